@@ -5,16 +5,17 @@ import (
 	"slices"
 
 	"walkmill/api"
+	"walkmill/valid"
 )
 
 // Check returns the error of a cloth. That it has no truth is none: Wrong and Yarns are for such cloths too.
 func Check(c api.Cloth) api.Errno {
 	switch {
-	case len(c.Tracks) != whats || !all(validTrack, c.Tracks...):
+	case len(c.Tracks) != whats || !valid.All(validTrack, c.Tracks...):
 		return api.ErrForm
 	case len(c.Measures) > api.MaxClothMeasures:
 		return api.ErrLong
-	case !all(validMeasure, c.Measures...):
+	case !valid.All(validMeasure, c.Measures...):
 		return api.ErrArg
 	}
 	return api.OK
@@ -26,7 +27,7 @@ func At(c api.Cloth, hour int) ([]api.Span, api.Errno) {
 	switch {
 	case e != api.OK:
 		return nil, e
-	case !within(0, api.MaxClothHours, hour):
+	case !valid.Within(0, api.MaxClothHours, hour):
 		return nil, api.ErrRange
 	}
 	return known.spans(func(t truth) int { return t.sizes[hour] }), api.OK
@@ -49,7 +50,7 @@ func Below(c api.Cloth, what api.ClothWhat, limit int) (surely, possibly int, e 
 		return 0, 0, e
 	case !validWhat(what):
 		return 0, 0, api.ErrNone
-	case !within(0, api.MaxClothSize, limit):
+	case !valid.Within(0, api.MaxClothSize, limit):
 		return 0, 0, api.ErrRange
 	}
 	reached := known[what].byHour()
@@ -111,7 +112,7 @@ func Look(c api.Cloth, what api.ClothWhat, off int) (hour, left int, e api.Errno
 		return 0, 0, e
 	case !validWhat(what):
 		return 0, 0, api.ErrNone
-	case !within(0, api.MaxClothOff, off):
+	case !valid.Within(0, api.MaxClothOff, off):
 		return 0, 0, api.ErrRange
 	}
 	truths := slices.Collect(known[what].truths())
@@ -153,7 +154,7 @@ func Yarns(c api.Cloth, yarns [][]api.Span) ([]int, api.Errno) {
 		return nil, e
 	case len(yarns) > api.MaxClothYarns:
 		return nil, api.ErrFull
-	case !all(validYarn, yarns...):
+	case !valid.All(validYarn, yarns...):
 		return nil, api.ErrRange
 	}
 	var list []int
@@ -181,7 +182,7 @@ func Hours(c api.Cloth, now []api.Span) ([]int, api.Errno) {
 	switch {
 	case e != api.OK:
 		return nil, e
-	case len(now) != whats || !all(validSize, now...):
+	case len(now) != whats || !valid.All(validSize, now...):
 		return nil, api.ErrRange
 	}
 	var can [whats][hours]bool
@@ -212,7 +213,7 @@ func Sewn(parts [2]api.Cloth, whole api.Cloth, seam int) (surely, possibly bool,
 			return false, false, e
 		}
 	}
-	if !within(0, api.MaxClothSeam, seam) {
+	if !valid.Within(0, api.MaxClothSeam, seam) {
 		return false, false, api.ErrRange
 	}
 	joins := [whats]join{

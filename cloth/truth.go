@@ -6,6 +6,7 @@ import (
 	"slices"
 
 	"walkmill/api"
+	"walkmill/valid"
 )
 
 const (
@@ -32,7 +33,7 @@ func course(first, rate int) truth {
 
 // fits reports whether a measuring of the quantity is right.
 func (t truth) fits(m api.ClothMeasure) bool {
-	return within(-m.Off, m.Off, t.sizes[m.Hour]-m.Reading)
+	return valid.Within(-m.Off, m.Off, t.sizes[m.Hour]-m.Reading)
 }
 
 // stretch is from the least to the greatest number of the truths that were added to it.
@@ -129,7 +130,7 @@ func (q quantity) hoursIn(s api.Span) [hours]bool {
 	var can [hours]bool
 	for t := range q.truths() {
 		for hour, size := range t.sizes {
-			can[hour] = can[hour] || within(s.Low, s.High, size)
+			can[hour] = can[hour] || valid.Within(s.Low, s.High, size)
 		}
 	}
 	return can
