@@ -5,22 +5,16 @@ import (
 	"walkmill/valid"
 )
 
-// validSpan reports whether a span is valid from low to high, with ends that are at most apart from each other.
-func validSpan(s api.Span, low, high, apart int) bool {
-	// Only ends that are known to be within limits have a difference that surely fits into an int.
-	return valid.Span(s, low, high) && s.High-s.Low <= apart
-}
-
 func validSize(s api.Span) bool {
 	return valid.Span(s, 0, api.MaxClothSize)
 }
 
 func validRate(s api.Span) bool {
-	return validSpan(s, 0, api.MaxClothRate, api.MaxClothGuess)
+	return valid.Narrow(s, 0, api.MaxClothRate, api.MaxClothGuess)
 }
 
 func validTrack(t api.ClothTrack) bool {
-	return validSpan(t.First, 1, api.MaxClothSize, api.MaxClothDoubt) && validRate(t.Rate)
+	return valid.Narrow(t.First, 1, api.MaxClothSize, api.MaxClothDoubt) && validRate(t.Rate)
 }
 
 func validYarn(rates []api.Span) bool {

@@ -27,3 +27,9 @@ func All[E any](holds func(E) bool, list ...E) bool {
 func Span(s api.Span, low, high int) bool {
 	return Within(low, high, s.Low, s.High) && s.Low <= s.High
 }
+
+// Narrow reports whether a span is valid from low to high, with ends that are at most apart from each other.
+func Narrow(s api.Span, low, high, apart int) bool {
+	// Only ends that are known to be within limits have a difference that surely fits into an int.
+	return Span(s, low, high) && s.High-s.Low <= apart
+}

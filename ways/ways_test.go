@@ -19,6 +19,7 @@ const module = "walkmill"
 var layers = []struct{ name, words string }{
 	{"cloth", "closure variadic embedding promoted map array range-function range-integer label copy range-map"},
 	{"stream", "closure variadic embedding promoted map range-function range-integer struct-compared"},
+	{"stock", "closure variadic embedding promoted array range-function range-integer label copy"},
 }
 
 // TestWays looks for the features in all code that the exported functions of a layer reach.
