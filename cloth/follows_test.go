@@ -6,6 +6,7 @@ import (
 
 	"walkmill/api"
 	"walkmill/cloth"
+	"walkmill/samples"
 )
 
 // trials is how many cloths a test of what follows looks at.
@@ -13,7 +14,7 @@ const trials = 60
 
 // TestBetween is for P1.11 (and for P1.2 to P1.4): the spans are those of all truths, and no end of them grows from hour to hour.
 func TestBetween(t *testing.T) {
-	d := dice(1)
+	d := dice{1}
 	for range trials {
 		c, _ := d.cloth(5)
 		var before []api.Span
@@ -35,7 +36,7 @@ func TestBetween(t *testing.T) {
 				t.Fatalf("%v: rate %d is in %v, not %v", c, what, s, want)
 			}
 		}
-		checkBelow(t, c, api.ClothWhat(d.from(0, 2)), d.from(0, 310))
+		checkBelow(t, c, api.ClothWhat(d.From(0, 2)), d.From(0, 310))
 	}
 }
 
@@ -59,13 +60,13 @@ func checkBelow(t *testing.T, c api.Cloth, what api.ClothWhat, limit int) {
 
 // TestOneMore is for P1.12 (and for P1.5): what one measuring more can do.
 func TestOneMore(t *testing.T) {
-	d := dice(2)
+	d := dice{2}
 	var sure, maybe, never int
 	for range 4 * trials {
 		c, truth := d.cloth(4)
-		what, hour := api.ClothWhat(d.from(0, 2)), d.from(0, 10)
-		reading := max(0, min(api.MaxClothSize, truth[what].at(hour)+d.from(-12, 12)))
-		m := measure(what, hour, reading, d.from(0, 20))
+		what, hour := api.ClothWhat(d.From(0, 2)), d.From(0, 10)
+		reading := max(0, min(api.MaxClothSize, truth[what].at(hour)+d.From(-12, 12)))
+		m := measure(what, hour, reading, d.From(0, 20))
 		surely, possibly, e := cloth.Fits(c, m)
 		list := pairs(c, what)
 		misses := func(p pair) bool { return !p.near(m.Hour, m.Reading, m.Off) }
@@ -80,7 +81,7 @@ func TestOneMore(t *testing.T) {
 			unchanged(t, c, more)
 		case possibly:
 			maybe++
-			notWider(t, c, more, d.from(0, 300))
+			notWider(t, c, more, d.From(0, 300))
 		default:
 			never++
 			if _, e := cloth.At(more, 0); e != api.ErrState {
@@ -112,14 +113,14 @@ func notWider(t *testing.T, c, more api.Cloth, limit int) {
 	for hour := range api.MaxClothHours + 1 {
 		before := at(t, c, hour)
 		for what, s := range at(t, more, hour) {
-			if !lies(s, before[what]) {
+			if !samples.Lies(s, before[what]) {
 				t.Fatalf("%v: At(%d) is wider with %v", c, hour, more.Measures)
 			}
 		}
 	}
 	before := rates(t, c)
 	for what, s := range rates(t, more) {
-		if !lies(s, before[what]) {
+		if !samples.Lies(s, before[what]) {
 			t.Fatalf("%v: Rates is wider with %v", c, more.Measures)
 		}
 	}
@@ -134,20 +135,20 @@ func notWider(t *testing.T, c, more api.Cloth, limit int) {
 
 // TestWrongOnes is for P1.13 (and for P1.6): Wrong is the smallest of the shortest lists without which there is a truth.
 func TestWrongOnes(t *testing.T) {
-	d := dice(3)
+	d := dice{3}
 	several := 0
 	for range trials {
 		c, truth := d.cloth(api.MaxClothMeasures)
 		misread := 0
 		for i, m := range c.Measures {
-			if d.from(0, 1) == 0 {
-				c.Measures[i].Reading = max(0, m.Reading-d.from(1, 30))
+			if d.From(0, 1) == 0 {
+				c.Measures[i].Reading = max(0, m.Reading-d.From(1, 30))
 				if !truth[m.What].near(m.Hour, c.Measures[i].Reading, m.Off) {
 					misread++
 				}
 			}
 		}
-		all := sets(len(c.Measures))
+		all := samples.Sets(len(c.Measures))
 		want := all[slices.IndexFunc(all, func(list []int) bool { return hasTruth(without(c, list)) })]
 		e := api.OK
 		if len(want) == 0 {
@@ -174,11 +175,11 @@ func TestWrongOnes(t *testing.T) {
 
 // TestWhereToLook is for P1.14 (and for P1.7): what the readings of each hour leave.
 func TestWhereToLook(t *testing.T) {
-	d := dice(4)
+	d := dice{4}
 	found := 0
 	for range trials {
 		c, _ := d.cloth(3)
-		what, off := api.ClothWhat(d.from(0, 2)), d.from(0, 6)
+		what, off := api.ClothWhat(d.From(0, 2)), d.From(0, 6)
 		list := pairs(c, what)
 		hour, left := 0, len(list)
 		for h := range api.MaxClothHours + 1 {
@@ -219,14 +220,14 @@ func mostLeft(list []pair, hour, off int) int {
 
 // TestHowLong is for P1.15 (and for P1.9): the hour for which a cloth was truly beaten is among those of Hours.
 func TestHowLong(t *testing.T) {
-	d := dice(5)
+	d := dice{5}
 	for range trials {
 		c, truth := d.cloth(3)
-		hour := d.from(0, api.MaxClothHours)
+		hour := d.From(0, api.MaxClothHours)
 		var now []api.Span
 		for _, p := range truth {
 			size := p.at(hour)
-			now = append(now, to(max(0, size-d.from(0, 3)), size+d.from(0, 3)))
+			now = append(now, to(max(0, size-d.From(0, 3)), size+d.From(0, 3)))
 			now[len(now)-1].High = min(now[len(now)-1].High, api.MaxClothSize)
 		}
 		var want []int
@@ -254,7 +255,7 @@ func canBe(c api.Cloth, hour int, now []api.Span) bool {
 
 // TestWhichYarn is for P1.15 (and for P1.8): the yarn in which the rates of a cloth lie is among Yarns.
 func TestWhichYarn(t *testing.T) {
-	d := dice(6)
+	d := dice{6}
 	others := 0
 	for range trials {
 		c, truth := d.cloth(6)
@@ -262,14 +263,14 @@ func TestWhichYarn(t *testing.T) {
 		for range api.MaxClothYarns {
 			var yarn []api.Span
 			for _, p := range truth {
-				rate := max(0, min(api.MaxClothRate, p.rate+d.from(-12, 12)))
-				yarn = append(yarn, to(rate, min(api.MaxClothRate, rate+d.from(0, 8))))
+				rate := max(0, min(api.MaxClothRate, p.rate+d.From(-12, 12)))
+				yarn = append(yarn, to(rate, min(api.MaxClothRate, rate+d.From(0, 8))))
 			}
 			yarns = append(yarns, yarn)
 		}
-		own := d.from(0, api.MaxClothYarns-1)
+		own := d.From(0, api.MaxClothYarns-1)
 		for what, p := range truth {
-			yarns[own][what] = to(max(0, p.rate-d.from(0, 5)), min(api.MaxClothRate, p.rate+d.from(0, 5)))
+			yarns[own][what] = to(max(0, p.rate-d.From(0, 5)), min(api.MaxClothRate, p.rate+d.From(0, 5)))
 		}
 		var want []int
 		for i, yarn := range yarns {
@@ -294,7 +295,7 @@ func TestWhichYarn(t *testing.T) {
 
 // TestTrulySewn is for P1.15 (and for P1.10): two cloths that truly were sewn together possibly are.
 func TestTrulySewn(t *testing.T) {
-	d := dice(7)
+	d := dice{7}
 	var both, one, none int
 	for range 4 * trials {
 		a, truth := d.cloth(3)
@@ -302,7 +303,7 @@ func TestTrulySewn(t *testing.T) {
 		other[1].first = truth[1].first
 		b.Tracks[1] = d.track(other[1])
 		b.Measures = d.measures(other, 3)
-		seam := d.from(0, min(api.MaxClothSeam, truth[0].first))
+		seam := d.From(0, min(api.MaxClothSeam, truth[0].first))
 		joined := [3]pair{{truth[0].first + other[0].first - seam, 5}, {truth[1].first, 5}, {truth[2].first + other[2].first, 5}}
 		if joined[0].first < 1 || joined[0].first > api.MaxClothSize || joined[2].first > api.MaxClothSize {
 			continue
@@ -314,10 +315,10 @@ func TestTrulySewn(t *testing.T) {
 		if _, possibly, e := cloth.Sewn([2]api.Cloth{a, b}, whole, seam); !possibly || e != api.OK {
 			t.Fatalf("%v, %v, %v, %d: Sewn = %v, %d", a, b, whole, seam, possibly, e)
 		}
-		if d.from(0, 3) == 0 { // so that they surely are
+		if d.From(0, 3) == 0 { // so that they surely are
 			a, b, whole = known(truth), known(other), known(joined)
 		}
-		seam = max(0, min(api.MaxClothSeam, seam+d.from(-1, 1)*d.from(0, 15)))
+		seam = max(0, min(api.MaxClothSeam, seam+d.From(-1, 1)*d.From(0, 15)))
 		surely, possibly, e := cloth.Sewn([2]api.Cloth{a, b}, whole, seam)
 		wantSurely, wantPossibly := sewn(a, b, whole, seam)
 		if surely != wantSurely || possibly != wantPossibly || e != api.OK {

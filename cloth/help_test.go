@@ -6,6 +6,7 @@ import (
 
 	"walkmill/api"
 	"walkmill/cloth"
+	"walkmill/samples"
 )
 
 // to, track and measure write spans, tracks and measurings shortly.
@@ -103,49 +104,22 @@ func ends(list []pair, number func(pair) int) api.Span {
 	return s
 }
 
-// lies reports whether a span lies within another one.
-func lies(inner, outer api.Span) bool {
-	return inner.Low >= outer.Low && inner.High <= outer.High
-}
-
-// sets are the lists of numbers below n, each of which ascends, from shorter to longer ones and then as lists are compared.
-func sets(n int) [][]int {
-	all := [][]int{nil}
-	for i := range n {
-		for _, list := range slices.Clone(all) {
-			all = append(all, append(slices.Clone(list), i))
-		}
-	}
-	slices.SortFunc(all, func(a, b []int) int {
-		if len(a) != len(b) {
-			return len(a) - len(b)
-		}
-		return slices.Compare(a, b)
-	})
-	return all
-}
-
-// dice are numbers that are the same in each run.
-type dice uint64
-
-func (d *dice) from(low, high int) int {
-	*d = *d*6364136223846793005 + 1442695040888963407
-	return low + int(uint64(*d)>>33)%(high-low+1)
-}
+// dice make what is tried here.
+type dice struct{ samples.Dice }
 
 // track makes a track around a truth of it.
 func (d *dice) track(p pair) api.ClothTrack {
 	return track(
-		max(1, p.first-d.from(0, 6)), min(api.MaxClothSize, p.first+d.from(0, 6)),
-		max(0, p.rate-d.from(0, 6)), min(api.MaxClothRate, p.rate+d.from(0, 6)))
+		max(1, p.first-d.From(0, 6)), min(api.MaxClothSize, p.first+d.From(0, 6)),
+		max(0, p.rate-d.From(0, 6)), min(api.MaxClothRate, p.rate+d.From(0, 6)))
 }
 
 // measures makes measurings that are right in a truth.
 func (d *dice) measures(truth [3]pair, n int) []api.ClothMeasure {
 	var list []api.ClothMeasure
 	for range n {
-		what, hour, off := d.from(0, 2), d.from(0, 12), d.from(0, 4)
-		reading := truth[what].at(hour) + d.from(-off, off)
+		what, hour, off := d.From(0, 2), d.From(0, 12), d.From(0, 4)
+		reading := truth[what].at(hour) + d.From(-off, off)
 		if reading >= 0 && reading <= api.MaxClothSize {
 			list = append(list, measure(api.ClothWhat(what), hour, reading, off))
 		}
@@ -158,9 +132,9 @@ func (d *dice) cloth(n int) (api.Cloth, [3]pair) {
 	var truth [3]pair
 	var c api.Cloth
 	for what := range truth {
-		truth[what] = pair{d.from(1, 300), d.from(0, api.MaxClothRate)}
-		if d.from(0, 9) == 0 {
-			truth[what].first = d.from(1900, api.MaxClothSize)
+		truth[what] = pair{d.From(1, 300), d.From(0, api.MaxClothRate)}
+		if d.From(0, 9) == 0 {
+			truth[what].first = d.From(1900, api.MaxClothSize)
 		}
 		c.Tracks = append(c.Tracks, d.track(truth[what]))
 	}

@@ -60,29 +60,29 @@ func twin(q question) question {
 // wild makes questions with any numbers, many of which are not valid.
 func wild(d *dice) question {
 	number := func() int {
-		return []int{math.MinInt, -1, 0, 1, 2, 48, 100, 2000, math.MaxInt - 1, math.MaxInt}[d.from(0, 9)]
+		return []int{math.MinInt, -1, 0, 1, 2, 48, 100, 2000, math.MaxInt - 1, math.MaxInt}[d.From(0, 9)]
 	}
 	span := func() api.Span { return to(number(), number()) }
 	c, _ := d.cloth(3)
 	q := question{c: c, x: number(), y: number(), m: measure(api.ClothWhat(number()), number(), number(), number())}
-	if d.from(0, 1) == 0 {
-		q.c.Tracks[d.from(0, 2)] = api.ClothTrack{First: span(), Rate: span()}
+	if d.From(0, 1) == 0 {
+		q.c.Tracks[d.From(0, 2)] = api.ClothTrack{First: span(), Rate: span()}
 	}
-	if d.from(0, 1) == 0 {
-		q.c.Tracks = q.c.Tracks[:d.from(0, 3)]
+	if d.From(0, 1) == 0 {
+		q.c.Tracks = q.c.Tracks[:d.From(0, 3)]
 	}
-	if d.from(0, 1) == 0 {
+	if d.From(0, 1) == 0 {
 		q.c.Measures = append(q.c.Measures, q.m)
 	}
-	for range d.from(0, 7) {
-		q.yarns = append(q.yarns, []api.Span{span(), span(), span()}[:d.from(0, 3)])
+	for range d.From(0, 7) {
+		q.yarns = append(q.yarns, []api.Span{span(), span(), span()}[:d.From(0, 3)])
 	}
 	return q
 }
 
 // TestAnyArguments is for P1 and P2: whatever the arguments are, each function ends, does not panic, and answers alike.
 func TestAnyArguments(t *testing.T) {
-	d := dice(8)
+	d := dice{8}
 	for range 2000 {
 		q := wild(&d)
 		other := twin(q)

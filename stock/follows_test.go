@@ -5,6 +5,7 @@ import (
 	"testing"
 
 	"walkmill/api"
+	"walkmill/samples"
 	"walkmill/stock"
 )
 
@@ -38,12 +39,12 @@ func agrees(t *testing.T, c api.StockCloth) tally {
 
 // TestAllTruths is for P3.13 and P3.14 (and for P3.3 to P3.7): At, Gains, Fit, Out and Ever are as the count of all truths says.
 func TestAllTruths(t *testing.T) {
-	d := dice(1)
+	d := dice{1}
 	var out, ever, sometimes, never int
 	for range 2 * trials {
 		c, _ := d.measured(small, 3)
-		if d.from(0, 2) == 0 {
-			c.Harm = min(c.Harm, c.Full+d.from(0, 12))
+		if d.From(0, 2) == 0 {
+			c.Harm = min(c.Harm, c.Full+d.From(0, 12))
 		}
 		switch n := agrees(t, c); {
 		case len(n.surely) > 0:
@@ -63,16 +64,16 @@ func TestAllTruths(t *testing.T) {
 
 // TestAllTruthsOfTheLeastKnown is for P3.13 and P3.14: so it is of cloths of which as little is known as may be.
 func TestAllTruthsOfTheLeastKnown(t *testing.T) {
-	d := dice(2)
+	d := dice{2}
 	for i := range 4 {
-		near, strong := d.from(8, 900), d.from(8, 42)
-		c := api.StockCloth{Turn: d.from(1, api.MaxStockTurn), Start: d.from(0, 2), Strong: to(strong, strong+8), Weak: to(strong-8, strong)}
+		near, strong := d.From(8, 900), d.From(8, 42)
+		c := api.StockCloth{Turn: d.From(1, api.MaxStockTurn), Start: d.From(0, 2), Strong: to(strong, strong+8), Weak: to(strong-8, strong)}
 		for range api.MaxStockParts {
-			low := near + d.from(-8, 8)
+			low := near + d.From(-8, 8)
 			c.Parts = append(c.Parts, to(low, low+8))
 		}
 		c.Full = near + 10*strong
-		c.Harm = c.Full + d.from(50, 150)
+		c.Harm = c.Full + d.From(50, 150)
 		if i%2 == 1 {
 			c.Measures = append(c.Measures, measure(2, 9, near+9*strong, 10))
 		}
@@ -84,7 +85,7 @@ func TestAllTruthsOfTheLeastKnown(t *testing.T) {
 
 // TestNoThinner is for P3.13: from hour to hour neither end of a span of At is smaller.
 func TestNoThinner(t *testing.T) {
-	d := dice(3)
+	d := dice{3}
 	for range trials {
 		c, _ := d.measured(great, api.MaxStockMeasures)
 		for hour := range api.MaxStockHours {
@@ -100,7 +101,7 @@ func TestNoThinner(t *testing.T) {
 
 // TestInATruth is for P3.13 and P3.14: in a truth of a great cloth all is as At, Gains, Fit, Out and Ever say.
 func TestInATruth(t *testing.T) {
-	d := dice(4)
+	d := dice{4}
 	sure, unsure := 0, 0
 	for range 10 * trials {
 		c, way := d.measured(great, api.MaxStockMeasures)
@@ -116,7 +117,7 @@ func TestInATruth(t *testing.T) {
 			}
 		}
 		strong, weak := gains(t, c)
-		if !lies(to(way.strong, way.strong), strong) || !lies(to(way.weak, way.weak), weak) {
+		if !samples.Lies(to(way.strong, way.strong), strong) || !samples.Lies(to(way.weak, way.weak), weak) {
 			t.Fatalf("%v: the gains %d and %d do not lie in %v and %v", c, way.strong, way.weak, strong, weak)
 		}
 		always, ever, e := stock.Ever(c)
@@ -137,7 +138,7 @@ func TestInATruth(t *testing.T) {
 
 // TestShares is for P3.2: in each hour one part is beaten more, and it gains Strong, the others Weak.
 func TestShares(t *testing.T) {
-	d := dice(5)
+	d := dice{5}
 	for range trials {
 		c, way := d.cloth(great)
 		for hour := range hours {
@@ -200,17 +201,17 @@ func firstLook(c api.StockCloth, off int) (api.StockMeasure, bool) {
 func (d *dice) hasty() api.StockCloth {
 	c, way := d.measured(small, 1)
 	thick := way.thick[slices.Index(way.fit[:], true)]
-	c.Harm = slices.Max(thick[:len(c.Parts)]) + d.from(0, 5)
+	c.Harm = slices.Max(thick[:len(c.Parts)]) + d.From(0, 5)
 	return c
 }
 
 // TestLookInAllTruths is for P3.15 (and for P3.8): Look is as the count of all measurings, readings and truths says.
 func TestLookInAllTruths(t *testing.T) {
-	d := dice(6)
+	d := dice{6}
 	var early, late, none, twice int
 	for range 5 * trials {
 		c := d.hasty()
-		off := max(0, d.from(-2, 3))
+		off := max(0, d.From(-2, 3))
 		m, e := stock.Look(c, off)
 		want, found := firstLook(c, off)
 		n := count(c)
@@ -239,16 +240,16 @@ func TestLookInAllTruths(t *testing.T) {
 
 // TestItDecides is for P3.15: with what is read in any truth there is an hour, not before the measuring, at which the cloth surely is fit.
 func TestItDecides(t *testing.T) {
-	d := dice(7)
+	d := dice{7}
 	found := 0
 	for range 10 * trials {
 		c, way := d.measured(great, api.MaxStockMeasures-1)
-		m, e := stock.Look(c, d.from(0, 3))
+		m, e := stock.Look(c, d.From(0, 3))
 		if e != api.OK {
 			continue
 		}
 		found++
-		m.Reading = way.thick[m.Hour][m.Part] + d.from(-m.Off, m.Off)
+		m.Reading = way.thick[m.Hour][m.Part] + d.From(-m.Off, m.Off)
 		m.Reading = max(0, m.Reading) // as near
 		surely, _ := fit(t, with(c, m))
 		if len(surely) == 0 || surely[len(surely)-1] < m.Hour {
@@ -262,7 +263,7 @@ func TestItDecides(t *testing.T) {
 
 // TestOneMore is for P3.16: what one measuring more can do.
 func TestOneMore(t *testing.T) {
-	d := dice(8)
+	d := dice{8}
 	narrower, surer := 0, 0
 	for range 10 * trials {
 		c, way := d.measured(great, 2)
@@ -278,13 +279,13 @@ func TestOneMore(t *testing.T) {
 		}
 		a, b := gains(t, c)
 		p, q := gains(t, more)
-		if !lies(p, a) || !lies(q, b) {
+		if !samples.Lies(p, a) || !samples.Lies(q, b) {
 			t.Fatalf("%v: gains %v and %v, with %v %v and %v", c, a, b, list, p, q)
 		}
 		for hour := range hours {
 			wide, narrow := at(t, c, hour), at(t, more, hour)
 			for part := range wide {
-				if !lies(narrow[part], wide[part]) {
+				if !samples.Lies(narrow[part], wide[part]) {
 					t.Fatalf("%v: At(%d) = %v, with %v %v", c, hour, wide, list, narrow)
 				}
 			}
@@ -303,17 +304,17 @@ func TestOneMore(t *testing.T) {
 
 // TestTheWrongOnes is for P3.17 (and for P3.12): Wrong is as the count of all lists and truths says.
 func TestTheWrongOnes(t *testing.T) {
-	d := dice(9)
+	d := dice{9}
 	var right, one, many int
 	for range trials {
 		c, way := d.measured(small, 3)
-		for range d.from(0, 3) {
-			m := measure(d.from(0, len(c.Parts)-1), d.from(0, 9), 0, d.from(0, 2))
-			m.Reading = max(0, way.thick[m.Hour][m.Part]+d.from(-20, 20))
-			c.Measures = slices.Insert(c.Measures, d.from(0, len(c.Measures)), m)
+		for range d.From(0, 3) {
+			m := measure(d.From(0, len(c.Parts)-1), d.From(0, 9), 0, d.From(0, 2))
+			m.Reading = max(0, way.thick[m.Hour][m.Part]+d.From(-20, 20))
+			c.Measures = slices.Insert(c.Measures, d.From(0, len(c.Measures)), m)
 		}
 		var want []int
-		for _, list := range sets(len(c.Measures)) {
+		for _, list := range samples.Sets(len(c.Measures)) {
 			if hasTruth(without(c, list)) {
 				want = list
 				break
@@ -346,12 +347,12 @@ func TestTheWrongOnes(t *testing.T) {
 
 // TestTrueStart is for P3.17 (and for P3.10): Starts is as the count of all truths says, and has the part that truly was beaten first.
 func TestTrueStart(t *testing.T) {
-	d := dice(10)
+	d := dice{10}
 	fewer, more := 0, 0
 	for range trials {
 		c, way := d.measured(small, 4)
 		start := c.Start
-		c.Start = d.from(0, len(c.Parts)-1)
+		c.Start = d.From(0, len(c.Parts)-1)
 		var want []int
 		for part := range c.Parts {
 			if hasTruth(begun(c, part)) {
@@ -376,7 +377,7 @@ func TestTrueStart(t *testing.T) {
 
 // TestBestTurn is for P3.9: Turns is as the count of all truths with each Turn says.
 func TestBestTurn(t *testing.T) {
-	d := dice(11)
+	d := dice{11}
 	var none, first, later int
 	for range trials {
 		c, _ := d.cloth(small)
@@ -408,7 +409,7 @@ func TestBestTurn(t *testing.T) {
 
 // TestBothInAllTruths is for P3.11: Both is as the count of all truths of both cloths says.
 func TestBothInAllTruths(t *testing.T) {
-	d := dice(12)
+	d := dice{12}
 	none, some := 0, 0
 	for range 2 * trials {
 		a, _ := d.measured(small, 3)

@@ -6,6 +6,7 @@ import (
 	"testing"
 
 	"walkmill/api"
+	"walkmill/samples"
 	"walkmill/stock"
 )
 
@@ -201,10 +202,10 @@ func count(c api.StockCloth) tally {
 		if n.truths == 0 {
 			all = way.fit
 		}
-		n.strong, n.weak = wider(n.strong, way.strong, n.truths), wider(n.weak, way.weak, n.truths)
+		n.strong, n.weak = samples.Wider(n.strong, way.strong, n.truths), samples.Wider(n.weak, way.weak, n.truths)
 		for hour, fit := range way.fit {
 			for part, thick := range way.thick[hour] {
-				n.at[hour][part] = wider(n.at[hour][part], thick, n.truths)
+				n.at[hour][part] = samples.Wider(n.at[hour][part], thick, n.truths)
 			}
 			all[hour], some[hour] = all[hour] && fit, some[hour] || fit
 		}
@@ -222,36 +223,6 @@ func count(c api.StockCloth) tally {
 	return n
 }
 
-// wider is a span of n numbers with one number more.
-func wider(s api.Span, number, n int) api.Span {
-	if n == 0 {
-		return to(number, number)
-	}
-	return to(min(s.Low, number), max(s.High, number))
-}
-
-// lies reports whether a span lies within another one.
-func lies(inner, outer api.Span) bool {
-	return inner.Low >= outer.Low && inner.High <= outer.High
-}
-
-// sets are the lists of numbers below n, each of which ascends, from shorter to longer ones and then as lists are compared.
-func sets(n int) [][]int {
-	all := [][]int{nil}
-	for i := range n {
-		for _, list := range slices.Clone(all) {
-			all = append(all, append(slices.Clone(list), i))
-		}
-	}
-	slices.SortFunc(all, func(a, b []int) int {
-		if len(a) != len(b) {
-			return len(a) - len(b)
-		}
-		return slices.Compare(a, b)
-	})
-	return all
-}
-
 // without is a cloth without the measurings of some numbers.
 func without(c api.StockCloth, numbers []int) api.StockCloth {
 	left := set(c, func(c *api.StockCloth) { c.Measures = nil })
@@ -263,17 +234,12 @@ func without(c api.StockCloth, numbers []int) api.StockCloth {
 	return left
 }
 
-// dice are numbers that are the same in each run.
-type dice uint64
-
-func (d *dice) from(low, high int) int {
-	*d = *d*6364136223846793005 + 1442695040888963407
-	return low + int(uint64(*d)>>33)%(high-low+1)
-}
+// dice make what is tried here.
+type dice struct{ samples.Dice }
 
 // around makes a span from low to high, at most so wide, in which a number lies.
 func (d *dice) around(number, low, high, wide int) api.Span {
-	below := d.from(0, wide)
+	below := d.From(0, wide)
 	return to(max(low, number-below), min(high, number+wide-below))
 }
 
@@ -288,30 +254,30 @@ var (
 
 // cloth makes a cloth without measurings, and a truth in which it is fit at some hour.
 func (d *dice) cloth(z sizes) (api.StockCloth, course) {
-	c := api.StockCloth{Turn: d.from(1, z.turn)}
-	x := truth{strong: d.from(0, z.strong)}
-	x.weak = d.from(0, min(z.weak, x.strong))
-	near := d.from(0, z.thick)
-	for part := range d.from(1, api.MaxStockParts) {
-		x.firsts[part] = min(z.thick, near+d.from(0, 2*z.doubt))
-		c.Parts = append(c.Parts, d.around(x.firsts[part], 0, api.MaxStockThick, d.from(0, z.doubt)))
+	c := api.StockCloth{Turn: d.From(1, z.turn)}
+	x := truth{strong: d.From(0, z.strong)}
+	x.weak = d.From(0, min(z.weak, x.strong))
+	near := d.From(0, z.thick)
+	for part := range d.From(1, api.MaxStockParts) {
+		x.firsts[part] = min(z.thick, near+d.From(0, 2*z.doubt))
+		c.Parts = append(c.Parts, d.around(x.firsts[part], 0, api.MaxStockThick, d.From(0, z.doubt)))
 	}
-	c.Strong = d.around(x.strong, x.weak, api.MaxStockGain, d.from(0, z.doubt))
-	c.Weak = d.around(x.weak, 0, c.Strong.Low, d.from(0, z.doubt))
-	c.Start = d.from(0, len(c.Parts)-1)
+	c.Strong = d.around(x.strong, x.weak, api.MaxStockGain, d.From(0, z.doubt))
+	c.Weak = d.around(x.weak, 0, c.Strong.Low, d.From(0, z.doubt))
+	c.Start = d.From(0, len(c.Parts)-1)
 	way := x.course(c)
-	thick := way.thick[d.from(0, api.MaxStockHours)][:len(c.Parts)]
-	c.Full = max(0, slices.Min(thick)-d.from(0, 2*z.strong))
-	c.Harm = min(3*api.MaxStockThick, slices.Max(thick)+d.from(0, 2*z.strong))
+	thick := way.thick[d.From(0, api.MaxStockHours)][:len(c.Parts)]
+	c.Full = max(0, slices.Min(thick)-d.From(0, 2*z.strong))
+	c.Harm = min(3*api.MaxStockThick, slices.Max(thick)+d.From(0, 2*z.strong))
 	return c, x.course(c)
 }
 
 // measures makes at most n measurings that are right in a truth of a cloth.
 func (d *dice) measures(c api.StockCloth, way course, n int) []api.StockMeasure {
 	var list []api.StockMeasure
-	for range d.from(0, n) {
-		part, hour, off := d.from(0, len(c.Parts)-1), d.from(0, api.MaxStockHours), d.from(0, api.MaxStockOff)
-		reading := way.thick[hour][part] + d.from(-off, off)
+	for range d.From(0, n) {
+		part, hour, off := d.From(0, len(c.Parts)-1), d.From(0, api.MaxStockHours), d.From(0, api.MaxStockOff)
+		reading := way.thick[hour][part] + d.From(-off, off)
 		if reading >= 0 && reading <= 3*api.MaxStockThick {
 			list = append(list, measure(part, hour, reading, off))
 		}

@@ -58,15 +58,15 @@ func copied(q question) question {
 // wild makes questions with any numbers, many of which are not valid.
 func wild(d *dice) question {
 	number := func() int {
-		return []int{math.MinInt, -1, 0, 1, 2, 8, 12, 36, 50, 1000, 3000, math.MaxInt - 1, math.MaxInt}[d.from(0, 12)]
+		return []int{math.MinInt, -1, 0, 1, 2, 8, 12, 36, 50, 1000, 3000, math.MaxInt - 1, math.MaxInt}[d.From(0, 12)]
 	}
 	span := func() api.Span { return to(number(), number()) }
 	q := question{hour: number(), off: number()}
 	q.c, _ = d.measured(great, api.MaxStockMeasures)
 	q.other, _ = d.measured(great, api.MaxStockMeasures)
-	switch d.from(0, 7) {
+	switch d.From(0, 7) {
 	case 0:
-		q.c.Parts[d.from(0, len(q.c.Parts)-1)] = span()
+		q.c.Parts[d.From(0, len(q.c.Parts)-1)] = span()
 	case 1:
 		q.c.Strong, q.c.Weak = span(), span()
 	case 2:
@@ -76,19 +76,19 @@ func wild(d *dice) question {
 	case 4:
 		q.c.Measures = append(q.c.Measures, measure(number(), number(), number(), number()))
 	case 5:
-		q.c.Measures = append(q.c.Measures, measure(0, d.from(0, 36), d.from(0, 3000), d.from(0, 10)))
+		q.c.Measures = append(q.c.Measures, measure(0, d.From(0, 36), d.From(0, 3000), d.From(0, 10)))
 	case 6:
 		q.c = api.StockCloth{Strong: span(), Weak: span(), Turn: number(), Start: number(), Full: number(), Harm: number()}
 	}
-	if d.from(0, 3) == 0 {
-		q.c.Parts = slices.Repeat(q.c.Parts, d.from(0, 2))
+	if d.From(0, 3) == 0 {
+		q.c.Parts = slices.Repeat(q.c.Parts, d.From(0, 2))
 	}
 	return q
 }
 
 // TestAnyArguments is for P1 and P2: whatever the arguments are, each function ends, does not panic, and answers alike.
 func TestAnyArguments(t *testing.T) {
-	d := dice(13)
+	d := dice{13}
 	errors := map[api.Errno]bool{}
 	for range 2000 {
 		q := wild(&d)

@@ -13,7 +13,7 @@ const trials = 300
 
 // TestGoesInAllTruths is for P2.12 (and for P2.2): Goes is as the count of all truths says.
 func TestGoesInAllTruths(t *testing.T) {
-	d := dice(1)
+	d := dice{1}
 	var never, sure, maybe int
 	for range trials {
 		m, flows := d.small()
@@ -48,7 +48,7 @@ func TestGoesInAllTruths(t *testing.T) {
 
 // TestLevelsInAllTruths is for P2.12 and P2.13 (and for P2.3): the levels lie in Levels, both ends are reached, and no water is lost.
 func TestLevelsInAllTruths(t *testing.T) {
-	d := dice(2)
+	d := dice{2}
 	found := 0
 	for range trials {
 		m, flows := d.small()
@@ -100,7 +100,7 @@ func conserved(t *testing.T, m api.StreamMill, x truth, plan []int) {
 
 // TestMostOfAllPlans is for P2.14 (and for P2.5 and P2.8): Most and Done are as the count of all plans in all truths says.
 func TestMostOfAllPlans(t *testing.T) {
-	d := dice(3)
+	d := dice{3}
 	later := 0
 	for range trials {
 		m, flows := d.small()
@@ -145,7 +145,7 @@ func TestMostOfAllPlans(t *testing.T) {
 
 // TestMostOfGreatMills is for P2.14: no plan that is tried has more hammers than Most, no hour can be worked more, and Done agrees.
 func TestMostOfGreatMills(t *testing.T) {
-	d := dice(4)
+	d := dice{4}
 	for range trials {
 		m, flows := d.great()
 		best := most(t, m, flows)
@@ -179,12 +179,12 @@ func TestMostOfGreatMills(t *testing.T) {
 
 // TestHowLong is for P2.15 (and for P2.6 and P2.7): Lasts is as the count of all truths says, and Window as Lasts says.
 func TestHowLong(t *testing.T) {
-	d := dice(5)
+	d := dice{5}
 	unsure := 0
 	for range trials {
 		m, flows := d.small()
 		list := truths(m, flows)
-		hammers := d.from(1, m.Hammers)
+		hammers := d.From(1, m.Hammers)
 		var surely []int
 		for from := range flows {
 			least, greatest := len(flows), 0
@@ -217,23 +217,23 @@ func TestHowLong(t *testing.T) {
 
 // TestNoLessLong is for P2.15: with fewer hammers, more water, or a greater pond they last no less long.
 func TestNoLessLong(t *testing.T) {
-	d := dice(6)
+	d := dice{6}
 	longer := [3]int{}
 	for range 4 * trials {
 		m, flows := d.great()
-		hammers, from := d.from(1, m.Hammers), d.from(0, len(flows)-1)
+		hammers, from := d.From(1, m.Hammers), d.From(0, len(flows)-1)
 		surely, possibly := lasts(t, m, flows, hammers, from)
 		great, wet := m, slices.Clone(flows)
-		great.Holds = min(api.MaxStreamHolds, m.Holds+d.from(0, 100))
+		great.Holds = min(api.MaxStreamHolds, m.Holds+d.From(0, 100))
 		for i, s := range wet {
-			more := d.from(0, 50)
+			more := d.From(0, 50)
 			wet[i] = to(min(api.MaxStreamFlow, s.Low+more), min(api.MaxStreamFlow, s.High+more))
 		}
 		for i, x := range []struct {
 			m       api.StreamMill
 			flows   []api.Span
 			hammers int
-		}{{m, flows, d.from(1, hammers)}, {m, wet, hammers}, {great, flows, hammers}} {
+		}{{m, flows, d.From(1, hammers)}, {m, wet, hammers}, {great, flows, hammers}} {
 			a, b := lasts(t, x.m, x.flows, x.hammers, from)
 			if a < surely || b < possibly {
 				t.Fatalf("%v, %v: %d hammers last %d, %d, but of %v, %v %d last %d, %d", m, flows, hammers, surely, possibly, x.m, x.flows, x.hammers, a, b)
@@ -250,11 +250,11 @@ func TestNoLessLong(t *testing.T) {
 
 // TestWhatCame is for P2.16 (and for P2.10): Stopped is as the count of all truths says.
 func TestWhatCame(t *testing.T) {
-	d := dice(7)
+	d := dice{7}
 	found := 0
 	for range trials {
 		m, flows := d.small()
-		plan := d.plan(m.Hammers, d.from(1, len(flows)))
+		plan := d.plan(m.Hammers, d.From(1, len(flows)))
 		var want []api.Span
 		for _, x := range truths(m, flows) {
 			if c := x.course(m, plan); c.fails != len(plan)-1 {
@@ -284,7 +284,7 @@ func TestWhatCame(t *testing.T) {
 
 // TestWhatCameInGreatMills is for P2.16: what came in a truth in which the wheel stopped lies in Stopped.
 func TestWhatCameInGreatMills(t *testing.T) {
-	d := dice(8)
+	d := dice{8}
 	found := 0
 	for range 10 * trials {
 		m, flows := d.great()
@@ -312,7 +312,7 @@ func TestWhatCameInGreatMills(t *testing.T) {
 
 // TestHeldBack is for P2.16 (and for P2.9): Upstream is as the count of all truths says.
 func TestHeldBack(t *testing.T) {
-	d := dice(9)
+	d := dice{9}
 	var all, some, nothing int
 	for range trials {
 		m, flows := d.small()
@@ -348,13 +348,13 @@ func TestHeldBack(t *testing.T) {
 
 // TestHeldBackFromGreatMills is for P2.16: with what Upstream says the plan surely is right, with one more it is not.
 func TestHeldBackFromGreatMills(t *testing.T) {
-	d := dice(10)
+	d := dice{10}
 	some := 0
 	for range trials {
 		m, flows := d.great()
 		plan := most(t, m, flows)
 		for hour := range plan {
-			plan[hour] = d.from(0, plan[hour])
+			plan[hour] = d.From(0, plan[hour])
 		}
 		held, e := stream.Upstream(m, flows, plan)
 		if e != api.OK {
@@ -385,7 +385,7 @@ func TestHeldBackFromGreatMills(t *testing.T) {
 
 // TestMoreRain is for P2.16 (and for P2.11): Rain is as the count of all truths says, with it the plan is right, with less in this hour it is not.
 func TestMoreRain(t *testing.T) {
-	d := dice(11)
+	d := dice{11}
 	found, none := 0, 0
 	for range trials {
 		m, flows := d.small()
@@ -424,7 +424,7 @@ func TestMoreRain(t *testing.T) {
 
 // TestBlowsOfAllHammers is for P2.4: each hammer of a plan gives its blows.
 func TestBlowsOfAllHammers(t *testing.T) {
-	d := dice(12)
+	d := dice{12}
 	for range trials {
 		m, flows := d.great()
 		plan := d.plan(m.Hammers, len(flows))

@@ -6,6 +6,7 @@ import (
 	"testing"
 
 	"walkmill/api"
+	"walkmill/samples"
 	"walkmill/stream"
 )
 
@@ -151,26 +152,21 @@ func sum(list []int) int {
 	return n
 }
 
-// dice are numbers that are the same in each run.
-type dice uint64
-
-func (d *dice) from(low, high int) int {
-	*d = *d*6364136223846793005 + 1442695040888963407
-	return low + int(uint64(*d)>>33)%(high-low+1)
-}
+// dice make what is tried here.
+type dice struct{ samples.Dice }
 
 // span makes a span from low to high that is at most so wide.
 func (d *dice) span(low, high, wide int) api.Span {
-	a := d.from(low, high)
-	return to(a, min(high, a+d.from(0, wide)))
+	a := d.From(low, high)
+	return to(a, min(high, a+d.From(0, wide)))
 }
 
 // small makes a mill and a stream of which all truths can be counted.
 func (d *dice) small() (api.StreamMill, []api.Span) {
-	m := api.StreamMill{Hammers: d.from(1, 3), Takes: d.from(0, 4), Blows: d.span(0, 50, 20), Holds: d.from(0, 12)}
+	m := api.StreamMill{Hammers: d.From(1, 3), Takes: d.From(0, 4), Blows: d.span(0, 50, 20), Holds: d.From(0, 12)}
 	m.Now = d.span(0, m.Holds, 3)
 	var flows []api.Span
-	for range d.from(1, 4) {
+	for range d.From(1, 4) {
 		flows = append(flows, d.span(0, 9, 3))
 	}
 	return m, flows
@@ -179,35 +175,35 @@ func (d *dice) small() (api.StreamMill, []api.Span) {
 // great makes a mill and a stream of any valid size.
 func (d *dice) great() (api.StreamMill, []api.Span) {
 	m := api.StreamMill{
-		Hammers: d.from(1, api.MaxStreamHammers),
-		Takes:   d.from(0, api.MaxStreamTakes),
+		Hammers: d.From(1, api.MaxStreamHammers),
+		Takes:   d.From(0, api.MaxStreamTakes),
 		Blows:   d.span(0, api.MaxStreamBlows, api.MaxStreamBlows),
-		Holds:   d.from(0, api.MaxStreamHolds),
+		Holds:   d.From(0, api.MaxStreamHolds),
 	}
 	m.Now = d.span(0, m.Holds, m.Holds)
-	most := d.from(0, api.MaxStreamFlow)
+	most := d.From(0, api.MaxStreamFlow)
 	var flows []api.Span
-	for range d.from(1, api.MaxStreamHours) {
-		flows = append(flows, d.span(0, most, d.from(0, api.MaxStreamFlow)))
+	for range d.From(1, api.MaxStreamHours) {
+		flows = append(flows, d.span(0, most, d.From(0, api.MaxStreamFlow)))
 	}
 	return m, flows
 }
 
 // plan makes a plan of so many hours.
 func (d *dice) plan(hammers, hours int) []int {
-	most := d.from(0, hammers)
+	most := d.From(0, hammers)
 	var plan []int
 	for range hours {
-		plan = append(plan, d.from(0, most))
+		plan = append(plan, d.From(0, most))
 	}
 	return plan
 }
 
 // any makes a truth of a mill and a stream.
 func (d *dice) any(m api.StreamMill, flows []api.Span) truth {
-	x := truth{now: d.from(m.Now.Low, m.Now.High)}
+	x := truth{now: d.From(m.Now.Low, m.Now.High)}
 	for _, s := range flows {
-		x.flows = append(x.flows, d.from(s.Low, s.High))
+		x.flows = append(x.flows, d.From(s.Low, s.High))
 	}
 	return x
 }

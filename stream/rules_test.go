@@ -58,32 +58,32 @@ func twin(q question) question {
 // wild makes questions with any numbers, many of which are not valid.
 func wild(d *dice) question {
 	number := func() int {
-		return []int{math.MinInt, -1, 0, 1, 2, 8, 24, 100, 500, 5000, math.MaxInt - 1, math.MaxInt}[d.from(0, 11)]
+		return []int{math.MinInt, -1, 0, 1, 2, 8, 24, 100, 500, 5000, math.MaxInt - 1, math.MaxInt}[d.From(0, 11)]
 	}
 	span := func() api.Span { return to(number(), number()) }
 	m, flows := d.great()
 	q := question{m: m, flows: flows, plan: d.plan(m.Hammers, len(flows)), x: number(), y: number()}
-	if d.from(0, 3) == 0 {
+	if d.From(0, 3) == 0 {
 		q.m = api.StreamMill{Hammers: number(), Takes: number(), Blows: span(), Holds: number(), Now: span()}
 	}
-	if d.from(0, 3) == 0 {
-		q.flows[d.from(0, len(flows)-1)] = span()
+	if d.From(0, 3) == 0 {
+		q.flows[d.From(0, len(flows)-1)] = span()
 	}
-	if d.from(0, 3) == 0 {
-		q.flows = q.flows[:d.from(0, len(flows))]
+	if d.From(0, 3) == 0 {
+		q.flows = q.flows[:d.From(0, len(flows))]
 	}
-	if d.from(0, 3) == 0 {
-		q.plan[d.from(0, len(q.plan)-1)] = number()
+	if d.From(0, 3) == 0 {
+		q.plan[d.From(0, len(q.plan)-1)] = number()
 	}
-	if d.from(0, 1) == 0 {
-		q.plan = q.plan[:d.from(0, len(q.plan))]
+	if d.From(0, 1) == 0 {
+		q.plan = q.plan[:d.From(0, len(q.plan))]
 	}
 	return q
 }
 
 // TestAnyArguments is for P1 and P2: whatever the arguments are, each function ends, does not panic, and answers alike.
 func TestAnyArguments(t *testing.T) {
-	d := dice(13)
+	d := dice{13}
 	for range 3000 {
 		q := wild(&d)
 		other := twin(q)

@@ -20,6 +20,7 @@ var layers = []struct{ name, words string }{
 	{"cloth", "closure variadic embedding promoted map array range-function range-integer label copy range-map"},
 	{"stream", "closure variadic embedding promoted map range-function range-integer struct-compared"},
 	{"stock", "closure variadic embedding promoted array range-function range-integer label copy"},
+	{"turn", "closure variadic embedding promoted range-function range-integer method-value copy"},
 }
 
 // TestWays looks for the features in all code that the exported functions of a layer reach.
@@ -49,6 +50,8 @@ type program struct {
 	library  types.Importer
 	// declared is where the objects of the package level, and methods, are declared.
 	declared map[types.Object]ast.Node
+	// called are the expressions that stand before the arguments of calls.
+	called map[ast.Expr]bool
 }
 
 func newProgram() *program {
@@ -56,6 +59,7 @@ func newProgram() *program {
 		fset:     token.NewFileSet(),
 		packages: map[string]*types.Package{},
 		declared: map[types.Object]ast.Node{},
+		called:   map[ast.Expr]bool{},
 		info: types.Info{
 			Types:      map[ast.Expr]types.TypeAndValue{},
 			Defs:       map[*ast.Ident]types.Object{},
@@ -138,8 +142,13 @@ func waysOf(t *testing.T, layer string) map[string]bool {
 	found := map[string]bool{}
 	for i := 0; i < len(reached); i++ {
 		ast.Inspect(p.declared[reached[i]], func(n ast.Node) bool {
-			if word := p.word(n); word != "" {
-				found[word] = true
+			if call, ok := n.(*ast.CallExpr); ok {
+				p.called[ast.Unparen(call.Fun)] = true // seen before the expression itself is
+			}
+			for _, word := range []string{p.word(n), p.selected(n)} {
+				if word != "" {
+					found[word] = true
+				}
 			}
 			if o := p.used(n); o != nil && !slices.Contains(reached, o) {
 				reached = append(reached, o)
@@ -183,7 +192,7 @@ func (p *program) word(n ast.Node) string {
 		return when(slices.ContainsFunc(x.Fields.List, func(f *ast.Field) bool { return len(f.Names) == 0 }), "embedding")
 	case *ast.SelectorExpr:
 		s := p.info.Selections[x]
-		return when(s != nil && len(s.Index()) > 1, "promoted")
+		return when(s != nil && s.Kind() == types.MethodVal && !p.called[x], "method-value")
 	case *ast.IndexExpr:
 		return when(p.structKeys(x.X), "struct-compared")
 	case *ast.BinaryExpr:
@@ -196,6 +205,16 @@ func (p *program) word(n ast.Node) string {
 		return p.ranged(x)
 	}
 	return ""
+}
+
+// selected returns the word for the way to what is selected.
+func (p *program) selected(n ast.Node) string {
+	x, ok := n.(*ast.SelectorExpr)
+	if !ok {
+		return ""
+	}
+	s := p.info.Selections[x]
+	return when(s != nil && len(s.Index()) > 1, "promoted")
 }
 
 // ranged returns the word for what is ranged over.

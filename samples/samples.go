@@ -1,0 +1,81 @@
+// Package samples has what the tests of the layers are made of: thrown numbers, and all lists of small numbers.
+package samples
+
+import (
+	"slices"
+
+	"walkmill/api"
+)
+
+// Dice are numbers that look thrown, but are the same in each run.
+type Dice uint64
+
+// From returns a number from low to high.
+func (d *Dice) From(low, high int) int {
+	*d = *d*6364136223846793005 + 1442695040888963407
+	return low + int(uint64(*d)>>33)%(high-low+1)
+}
+
+// Mixed returns a list that has each number below n once.
+func (d *Dice) Mixed(n int) []int {
+	var list []int
+	for x := range n {
+		list = slices.Insert(list, d.From(0, len(list)), x)
+	}
+	return list
+}
+
+// Lies reports whether a span lies within another one.
+func Lies(inner, outer api.Span) bool {
+	return inner.Low >= outer.Low && inner.High <= outer.High
+}
+
+// Wider returns a span of n numbers with one number more.
+func Wider(s api.Span, number, n int) api.Span {
+	if n == 0 {
+		return api.Span{Low: number, High: number}
+	}
+	return api.Span{Low: min(s.Low, number), High: max(s.High, number)}
+}
+
+// UpTo returns the numbers below n.
+func UpTo(n int) []int {
+	var list []int
+	for x := range n {
+		list = append(list, x)
+	}
+	return list
+}
+
+// Sets returns the lists of numbers below n, each of which ascends, from shorter to longer ones and then as lists are compared.
+func Sets(n int) [][]int {
+	all := [][]int{nil}
+	for i := range n {
+		for _, list := range slices.Clone(all) {
+			all = append(all, append(slices.Clone(list), i))
+		}
+	}
+	slices.SortFunc(all, func(a, b []int) int {
+		if len(a) != len(b) {
+			return len(a) - len(b)
+		}
+		return slices.Compare(a, b)
+	})
+	return all
+}
+
+// Orders returns the lists that have each number below n once, as lists are compared.
+func Orders(n int) [][]int {
+	all := [][]int{nil}
+	for i := range n {
+		var longer [][]int
+		for _, list := range all {
+			for at := range i + 1 {
+				longer = append(longer, slices.Insert(slices.Clone(list), at, i))
+			}
+		}
+		all = longer
+	}
+	slices.SortFunc(all, slices.Compare[[]int])
+	return all
+}
