@@ -21,6 +21,7 @@ var layers = []struct{ name, words string }{
 	{"stream", "closure variadic embedding promoted map range-function range-integer struct-compared"},
 	{"stock", "closure variadic embedding promoted array range-function range-integer label copy"},
 	{"turn", "closure variadic embedding promoted range-function range-integer method-value copy"},
+	{"tenter", "closure variadic embedding promoted map range-function method-value array"},
 }
 
 // TestWays looks for the features in all code that the exported functions of a layer reach.
