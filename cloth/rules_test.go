@@ -1,6 +1,7 @@
 package cloth_test
 
 import (
+	"fmt"
 	"math"
 	"reflect"
 	"slices"
@@ -8,6 +9,7 @@ import (
 
 	"walkmill/api"
 	"walkmill/cloth"
+	"walkmill/samples"
 )
 
 // question is what the functions are asked: a cloth, and what the other arguments are made of.
@@ -83,17 +85,8 @@ func wild(d *dice) question {
 // TestAnyArguments is for P1 and P2: whatever the arguments are, each function ends, does not panic, and answers alike.
 func TestAnyArguments(t *testing.T) {
 	d := dice{8}
-	for range 2000 {
-		q := wild(&d)
-		other := twin(q)
-		first := ask(q)
-		if !reflect.DeepEqual(q, other) {
-			t.Fatalf("%v is changed to %v", other, q)
-		}
-		if second := ask(other); !reflect.DeepEqual(first, second) {
-			t.Fatalf("%v: %v, and %v", q, first, second)
-		}
-	}
+	thrown := func() question { return wild(&d) }
+	samples.AnyArguments(t, 2000, thrown, twin, ask, fmt.Sprint)
 }
 
 // TestMemory is for P2, R3 and R4: no argument is changed, nor what lies behind its end, and no result shares memory with one.

@@ -79,3 +79,43 @@ func Orders(n int) [][]int {
 	slices.SortFunc(all, slices.Compare[[]int])
 	return all
 }
+
+// Span returns a span from low to high, with ends that are at most apart from each other.
+func (d *Dice) Span(low, high, apart int) api.Span {
+	x := d.From(low, high)
+	return api.Span{Low: x, High: min(high, x+d.From(0, apart))}
+}
+
+// Tester is a test that can fail: a *testing.T is one.
+type Tester interface {
+	Helper()
+	Errorf(format string, args ...any)
+	Fatalf(format string, args ...any)
+}
+
+// AnyArguments fails unless each of n wild questions is left as it was, and answered alike if it is asked again, and unless each of some errors is among the answers. Text writes values, as fmt.Sprint does.
+func AnyArguments[Q any](t Tester, n int, wild func() Q, copied func(Q) Q, ask func(Q) []any, text func(...any) string, errors ...api.Errno) {
+	t.Helper()
+	seen := map[api.Errno]bool{}
+	for range n {
+		q := wild()
+		other := copied(q)
+		first := ask(q)
+		if text(q) != text(other) {
+			t.Fatalf("%v is changed to %v", other, q)
+		}
+		if second := ask(other); text(first...) != text(second...) {
+			t.Fatalf("%v: %v, and %v", q, first, second)
+		}
+		for _, result := range first {
+			if e, ok := result.(api.Errno); ok {
+				seen[e] = true
+			}
+		}
+	}
+	for _, e := range errors {
+		if !seen[e] {
+			t.Errorf("the error %d is not tried", e)
+		}
+	}
+}

@@ -155,19 +155,13 @@ func sum(list []int) int {
 // dice make what is tried here.
 type dice struct{ samples.Dice }
 
-// span makes a span from low to high that is at most so wide.
-func (d *dice) span(low, high, wide int) api.Span {
-	a := d.From(low, high)
-	return to(a, min(high, a+d.From(0, wide)))
-}
-
 // small makes a mill and a stream of which all truths can be counted.
 func (d *dice) small() (api.StreamMill, []api.Span) {
-	m := api.StreamMill{Hammers: d.From(1, 3), Takes: d.From(0, 4), Blows: d.span(0, 50, 20), Holds: d.From(0, 12)}
-	m.Now = d.span(0, m.Holds, 3)
+	m := api.StreamMill{Hammers: d.From(1, 3), Takes: d.From(0, 4), Blows: d.Span(0, 50, 20), Holds: d.From(0, 12)}
+	m.Now = d.Span(0, m.Holds, 3)
 	var flows []api.Span
 	for range d.From(1, 4) {
-		flows = append(flows, d.span(0, 9, 3))
+		flows = append(flows, d.Span(0, 9, 3))
 	}
 	return m, flows
 }
@@ -177,14 +171,14 @@ func (d *dice) great() (api.StreamMill, []api.Span) {
 	m := api.StreamMill{
 		Hammers: d.From(1, api.MaxStreamHammers),
 		Takes:   d.From(0, api.MaxStreamTakes),
-		Blows:   d.span(0, api.MaxStreamBlows, api.MaxStreamBlows),
+		Blows:   d.Span(0, api.MaxStreamBlows, api.MaxStreamBlows),
 		Holds:   d.From(0, api.MaxStreamHolds),
 	}
-	m.Now = d.span(0, m.Holds, m.Holds)
+	m.Now = d.Span(0, m.Holds, m.Holds)
 	most := d.From(0, api.MaxStreamFlow)
 	var flows []api.Span
 	for range d.From(1, api.MaxStreamHours) {
-		flows = append(flows, d.span(0, most, d.From(0, api.MaxStreamFlow)))
+		flows = append(flows, d.Span(0, most, d.From(0, api.MaxStreamFlow)))
 	}
 	return m, flows
 }

@@ -8,6 +8,7 @@ import (
 	"testing"
 
 	"walkmill/api"
+	"walkmill/samples"
 	"walkmill/stream"
 )
 
@@ -84,17 +85,8 @@ func wild(d *dice) question {
 // TestAnyArguments is for P1 and P2: whatever the arguments are, each function ends, does not panic, and answers alike.
 func TestAnyArguments(t *testing.T) {
 	d := dice{13}
-	for range 3000 {
-		q := wild(&d)
-		other := twin(q)
-		first := ask(q)
-		if !reflect.DeepEqual(q, other) {
-			t.Fatalf("%v is changed to %v", other, q)
-		}
-		if second := ask(other); !alike(first, second) {
-			t.Fatalf("%v: %v, and %v", q, first, second)
-		}
-	}
+	thrown := func() question { return wild(&d) }
+	samples.AnyArguments(t, 3000, thrown, twin, ask, fmt.Sprint)
 }
 
 // TestMemory is for P2, R3 and R4: no argument is changed, nor what lies behind its end, and no result shares memory with one.

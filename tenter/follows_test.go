@@ -126,7 +126,7 @@ func (d *dice) crowded(each int) api.TenterField {
 	return set(d.field(great), func(f *api.TenterField) {
 		f.Cloths = nil
 		for range api.MaxTenterCloths {
-			f.Cloths = append(f.Cloths, cloth(d.span(100, 2000/each, 15), to(0, 0)))
+			f.Cloths = append(f.Cloths, cloth(d.Span(100, 2000/each, 15), to(0, 0)))
 		}
 		for frame := range f.Frames {
 			f.Frames[frame] = d.From(1000, 2000)
@@ -534,7 +534,7 @@ func TestOrderOfGreatFields(t *testing.T) {
 		f, weather := d.crowded(1), steady(d.From(8, 24), 20)
 		rain := d.From(7, len(weather))
 		for i := range f.Cloths {
-			f.Cloths[i].Water = d.span(0, 20*rain, 0)
+			f.Cloths[i].Water = d.Span(0, 20*rain, 0)
 		}
 		var lates []int
 		for i := range f.Cloths {

@@ -252,12 +252,6 @@ var (
 	great = sizes{api.MaxTenterCloths, api.MaxTenterFrames, api.MaxTenterHours, api.MaxTenterLong, api.MaxTenterWater, api.MaxTenterDries, 60}
 )
 
-// span makes a span.
-func (d *dice) span(low, high, doubt int) api.Span {
-	x := d.From(low, high)
-	return to(x, min(high, x+d.From(0, doubt)))
-}
-
 // field makes a field; on most of them some cloths can hang, but not all.
 func (d *dice) field(z sizes) api.TenterField {
 	f := field(nil, d.From(0, min(z.long/8, api.MaxTenterGap)), d.From(0, api.MaxTenterStretch))
@@ -266,7 +260,7 @@ func (d *dice) field(z sizes) api.TenterField {
 	}
 	longest := d.From(1, z.long)
 	for range d.From(0, z.cloths) {
-		f.Cloths = append(f.Cloths, cloth(d.span(1, longest, z.doubt), d.span(0, z.water, z.doubt)))
+		f.Cloths = append(f.Cloths, cloth(d.Span(1, longest, z.doubt), d.Span(0, z.water, z.doubt)))
 	}
 	return f
 }
@@ -275,7 +269,7 @@ func (d *dice) field(z sizes) api.TenterField {
 func (d *dice) weather(z sizes) []api.Span {
 	var weather []api.Span
 	for range d.From(1, z.hours) {
-		weather = append(weather, d.span(0, z.dries, z.doubt))
+		weather = append(weather, d.Span(0, z.dries, z.doubt))
 	}
 	return weather
 }

@@ -8,6 +8,7 @@ import (
 	"testing"
 
 	"walkmill/api"
+	"walkmill/samples"
 	"walkmill/tenter"
 )
 
@@ -93,28 +94,8 @@ func wild(d *dice) question {
 // TestAnyArguments is for P1 and P2: whatever the arguments are, each function ends, does not panic, and answers alike.
 func TestAnyArguments(t *testing.T) {
 	d := dice{17}
-	errors := map[api.Errno]bool{}
-	for range 2000 {
-		q := wild(&d)
-		other := copied(q)
-		first := ask(q)
-		if !reflect.DeepEqual(q, other) {
-			t.Fatalf("%v is changed to %v", other, q)
-		}
-		if second := ask(other); !alike(first, second) {
-			t.Fatalf("%v: %v, and %v", q, first, second)
-		}
-		for _, result := range first {
-			if e, ok := result.(api.Errno); ok {
-				errors[e] = true
-			}
-		}
-	}
-	for _, e := range []api.Errno{api.OK, api.ErrArg, api.ErrRange, api.ErrForm, api.ErrLong, api.ErrTwice, api.ErrNone, api.ErrFull, api.ErrState} {
-		if !errors[e] {
-			t.Errorf("the error %d is not tried", e)
-		}
-	}
+	thrown := func() question { return wild(&d) }
+	samples.AnyArguments(t, 2000, thrown, copied, ask, fmt.Sprint, api.OK, api.ErrArg, api.ErrRange, api.ErrForm, api.ErrLong, api.ErrTwice, api.ErrNone, api.ErrFull, api.ErrState)
 }
 
 // TestMemory is for P2, R3 and R4: no argument is changed, nor what lies behind its end, and no result shares memory with one.

@@ -22,6 +22,7 @@ var layers = []struct{ name, words string }{
 	{"stock", "closure variadic embedding promoted array range-function range-integer label copy"},
 	{"turn", "closure variadic embedding promoted range-function range-integer method-value copy"},
 	{"tenter", "closure variadic embedding promoted map range-function method-value array"},
+	{"soap", "closure variadic embedding promoted range-function range-integer generic-function label"},
 }
 
 // TestWays looks for the features in all code that the exported functions of a layer reach.
@@ -181,6 +182,8 @@ func (p *program) word(n ast.Node) string {
 	switch x := n.(type) {
 	case *ast.FuncLit:
 		return "closure"
+	case *ast.FuncDecl:
+		return when(x.Type.TypeParams != nil, "generic-function")
 	case *ast.LabeledStmt:
 		return "label"
 	case *ast.MapType:
