@@ -1,11 +1,10 @@
 package cloth
 
 import (
-	"cmp"
 	"iter"
-	"slices"
 
 	"walkmill/api"
+	"walkmill/sets"
 	"walkmill/valid"
 )
 
@@ -99,7 +98,7 @@ func (q quantity) wrong() []int {
 	found := false
 	for t := range q.courses() {
 		list := q.against(t)
-		if !found || cmp.Or(cmp.Compare(len(list), len(best)), slices.Compare(list, best)) < 0 {
+		if !found || sets.Compare(list, best) < 0 {
 			best, found = list, true
 		}
 	}

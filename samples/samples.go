@@ -2,6 +2,7 @@
 package samples
 
 import (
+	"iter"
 	"slices"
 
 	"walkmill/api"
@@ -84,6 +85,42 @@ func Orders(n int) [][]int {
 func (d *Dice) Span(low, high, apart int) api.Span {
 	x := d.From(low, high)
 	return api.Span{Low: x, High: min(high, x+d.From(0, apart))}
+}
+
+// Lists yields the lists that have a number of each span: the smaller lists first.
+func Lists(spans ...api.Span) iter.Seq[[]int] {
+	return func(yield func([]int) bool) {
+		if len(spans) == 0 {
+			yield(nil)
+			return
+		}
+		for x := spans[0].Low; x <= spans[0].High; x++ {
+			for list := range Lists(spans[1:]...) {
+				if !yield(append([]int{x}, list...)) {
+					return
+				}
+			}
+		}
+	}
+}
+
+// Roomy returns a list with the same elements as another one, and spare room behind them that is not zero.
+func Roomy[E any](list []E, behind E) []E {
+	longer := append(slices.Clone(list), behind, behind)
+	return longer[:len(list)]
+}
+
+// Cases counts which cases a test has seen.
+type Cases map[string]int
+
+// All fails unless each of some cases was seen.
+func (seen Cases) All(t Tester, names ...string) {
+	t.Helper()
+	for _, name := range names {
+		if seen[name] == 0 {
+			t.Errorf("no case is tried: %s, of %v", name, seen)
+		}
+	}
 }
 
 // Tester is a test that can fail: a *testing.T is one.

@@ -12,19 +12,6 @@ import (
 // tries is how many stores, barrels or loads a test of what follows looks at.
 const tries = 300
 
-// cases counts which cases a test has seen.
-type cases map[string]int
-
-// all fails unless each of some cases was seen.
-func (seen cases) all(t *testing.T, names ...string) {
-	t.Helper()
-	for _, name := range names {
-		if seen[name] == 0 {
-			t.Errorf("no case is tried: %s, of %v", name, seen)
-		}
-	}
-}
-
 // TestGreaseOfAllTruths is for P6.2 and P6.12: the ounces of Grease are those of all truths, and both ends are reached.
 func TestGreaseOfAllTruths(t *testing.T) {
 	d := dice{1}
@@ -45,7 +32,7 @@ func TestGreaseOfAllTruths(t *testing.T) {
 // TestMixesInAllTruths is for P6.3, P6.4 and P6.12: what a mix takes more is counted in all truths, and it scours surely in all of them, possibly in one.
 func TestMixesInAllTruths(t *testing.T) {
 	d := dice{2}
-	seen := cases{}
+	seen := samples.Cases{}
 	for range 3 * tries {
 		s, c := d.store(small), d.cloth(small)
 		mix := d.mix(s)
@@ -71,7 +58,7 @@ func TestMixesInAllTruths(t *testing.T) {
 			seen["does not stain"]++
 		}
 	}
-	seen.all(t, "surely", "possibly", "no", "stains", "does not stain")
+	seen.All(t, "surely", "possibly", "no", "stains", "does not stain")
 }
 
 // TestMixesInATruth is for P6.12: in a truth of a great cloth and store the grease lies in Grease, and what the mix takes more in Over; what surely scours does so.
@@ -102,7 +89,7 @@ func TestMixesInATruth(t *testing.T) {
 // TestAPoundMore is for P6.12: with a pound more of any sort a mix takes no less.
 func TestAPoundMore(t *testing.T) {
 	d := dice{4}
-	seen := cases{}
+	seen := samples.Cases{}
 	for range tries {
 		s, c := d.store(great), d.cloth(great)
 		mix := d.mix(s)
@@ -126,13 +113,13 @@ func TestAPoundMore(t *testing.T) {
 			}
 		}
 	}
-	seen.all(t, "scours now")
+	seen.All(t, "scours now")
 }
 
 // TestCheapestOfAllMixes is for P6.5 and P6.13: the first one of all mixes with the lowest price that scour in all truths without staining.
 func TestCheapestOfAllMixes(t *testing.T) {
 	d := dice{5}
-	seen := cases{}
+	seen := samples.Cases{}
 	for range 2 * tries {
 		s, c := d.store(small), d.cloth(small)
 		want, found := cheapestOf(s, fit(s, c))
@@ -149,13 +136,13 @@ func TestCheapestOfAllMixes(t *testing.T) {
 			seen["several"]++
 		}
 	}
-	seen.all(t, "none", "one", "several")
+	seen.All(t, "none", "one", "several")
 }
 
 // TestCheapestOfGreatStores is for P6.13: no mix of a great store that is tried, and that by Scours surely scours without staining, is cheaper.
 func TestCheapestOfGreatStores(t *testing.T) {
 	d := dice{6}
-	seen := cases{}
+	seen := samples.Cases{}
 	for i := range tries / 10 {
 		s, c := d.store(great), d.cloth(great)
 		if i == 0 {
@@ -180,13 +167,13 @@ func TestCheapestOfGreatStores(t *testing.T) {
 			seen["none"]++
 		}
 	}
-	seen.all(t, "some", "none")
+	seen.All(t, "some", "none")
 }
 
 // TestDearOfAllPrices is for P6.6: the greatest one of all prices with which the cheapest mix of all is cheaper than that without the sort.
 func TestDearOfAllPrices(t *testing.T) {
 	d := dice{7}
-	seen := cases{}
+	seen := samples.Cases{}
 	for range tries {
 		s, c := d.store(small), d.cloth(small)
 		number := d.From(0, len(s)-1)
@@ -206,13 +193,13 @@ func TestDearOfAllPrices(t *testing.T) {
 			seen["some"]++
 		}
 	}
-	seen.all(t, "none", "nothing", "the greatest", "some")
+	seen.All(t, "none", "nothing", "the greatest", "some")
 }
 
 // TestDearOfGreatStores is for P6.13: with the price of Dear the cheapest mix has some of the sort, and is cheaper than the one without it; with a farthing more it is not.
 func TestDearOfGreatStores(t *testing.T) {
 	d := dice{8}
-	seen := cases{}
+	seen := samples.Cases{}
 	for range tries / 5 {
 		s, c := d.store(great), d.cloth(great)
 		number := d.From(0, len(s)-1)
@@ -241,13 +228,13 @@ func TestDearOfGreatStores(t *testing.T) {
 			seen["a farthing more"]++
 		}
 	}
-	seen.all(t, "some", "a farthing more")
+	seen.All(t, "some", "a farthing more")
 }
 
 // TestServesOfAllMixes is for P6.7 and P6.13: each cloth has the first one of all the cheapest mixes of what is left, and together they have no more than the store.
 func TestServesOfAllMixes(t *testing.T) {
 	d := dice{9}
-	seen := cases{}
+	seen := samples.Cases{}
 	for range tries {
 		s := d.store(small)
 		var cloths []api.SoapCloth
@@ -285,12 +272,12 @@ func TestServesOfAllMixes(t *testing.T) {
 			seen["some"]++
 		}
 	}
-	seen.all(t, "all", "none", "some")
+	seen.All(t, "all", "none", "some")
 }
 
 // shortIn counts the truths in which a barrel is short, and all of them.
 func shortIn(b api.SoapBarrel) (short, truths int) {
-	for list := range lists(to(b.Gross-b.Off, b.Gross+b.Off), b.Tare) {
+	for list := range samples.Lists(to(b.Gross-b.Off, b.Gross+b.Off), b.Tare) {
 		if list[0]-list[1] < 16*b.Says {
 			short++
 		}
@@ -302,7 +289,7 @@ func shortIn(b api.SoapBarrel) (short, truths int) {
 // TestShortInAllTruths is for P6.8 and P6.14: surely in all truths, possibly in one, whatever the scales and the wood truly were.
 func TestShortInAllTruths(t *testing.T) {
 	d := dice{10}
-	seen := cases{}
+	seen := samples.Cases{}
 	for i := range tries / 10 {
 		l := d.barrels(d.From(0, api.MaxSoapBarrels), []int{3, 60}[i%2])
 		var surely, possibly []int
@@ -324,7 +311,7 @@ func TestShortInAllTruths(t *testing.T) {
 			t.Fatalf("Short(%v) = %v, %v, %d, not %v, %v", l, got, can, e, surely, possibly)
 		}
 	}
-	seen.all(t, "surely", "possibly", "no")
+	seen.All(t, "surely", "possibly", "no")
 }
 
 // within reports whether each number of a list is one of another one.
@@ -335,7 +322,7 @@ func within(list, other []int) bool {
 // TestShortOfNarrowTares is for P6.14: with a narrower Tare no fewer barrels are surely short, no more possibly.
 func TestShortOfNarrowTares(t *testing.T) {
 	d := dice{11}
-	seen := cases{}
+	seen := samples.Cases{}
 	for range tries {
 		l := d.barrels(api.MaxSoapBarrels, 60)
 		narrow := slices.Clone(l)
@@ -350,13 +337,13 @@ func TestShortOfNarrowTares(t *testing.T) {
 		seen["surely now"] += len(surely2) - len(surely)
 		seen["no more"] += len(possibly) - len(possibly2)
 	}
-	seen.all(t, "surely now", "no more")
+	seen.All(t, "surely now", "no more")
 }
 
 // TestSuspectsOfAllMisreadings is for P6.9: the barrels that are light by one at least of all ways in which at most wrong of the trials were misread.
 func TestSuspectsOfAllMisreadings(t *testing.T) {
 	d := dice{12}
-	seen := cases{}
+	seen := samples.Cases{}
 	for range tries {
 		barrels := d.From(2, api.MaxSoapBarrels)
 		trials := d.trials(d.From(0, 6), barrels, d.From(0, barrels-1), d.From(0, 3))
@@ -377,13 +364,13 @@ func TestSuspectsOfAllMisreadings(t *testing.T) {
 			seen["some"]++
 		}
 	}
-	seen.all(t, "none", "one", "all", "some")
+	seen.All(t, "none", "one", "all", "some")
 }
 
 // TestTheLightBarrel is for P6.15: it is among Suspects if no more trials were misread than wrong; with more that can be misread there are no fewer.
 func TestTheLightBarrel(t *testing.T) {
 	d := dice{13}
-	seen := cases{}
+	seen := samples.Cases{}
 	for range tries {
 		barrels, misread := d.From(2, api.MaxSoapBarrels), d.From(0, 4)
 		light := d.From(0, barrels-1)
@@ -400,13 +387,13 @@ func TestTheLightBarrel(t *testing.T) {
 			fewer = list
 		}
 	}
-	seen.all(t, "more")
+	seen.All(t, "more")
 }
 
 // TestTrialsOfAllLayings is for P6.10 and P6.15: the fewest trials by which the light barrel is found, of all ways in which barrels can be laid on the pans.
 func TestTrialsOfAllLayings(t *testing.T) {
 	d := dice{14}
-	seen := cases{}
+	seen := samples.Cases{}
 	for range tries / 10 {
 		barrels := d.From(2, 7)
 		trials := d.trials(d.From(0, 2), barrels, d.From(0, barrels-1), 0)
@@ -417,13 +404,13 @@ func TestTrialsOfAllLayings(t *testing.T) {
 		number(t, "Trials", want, api.OK)(soap.Trials(barrels, trials))
 		seen[[]string{"none", "one", "two"}[want]]++
 	}
-	seen.all(t, "none", "one", "two")
+	seen.All(t, "none", "one", "two")
 }
 
 // TestTrialsByThirds is for P6.15: three to the power of the trials is no fewer than the suspects, three to one power less is fewer.
 func TestTrialsByThirds(t *testing.T) {
 	d := dice{15}
-	seen := cases{}
+	seen := samples.Cases{}
 	for range tries {
 		barrels := d.From(2, api.MaxSoapBarrels)
 		trials := d.trials(d.From(0, 2), barrels, d.From(0, barrels-1), 0)
@@ -435,7 +422,7 @@ func TestTrialsByThirds(t *testing.T) {
 		}
 		seen[[]string{"none", "one", "two", "three"}[more]]++
 	}
-	seen.all(t, "none", "one", "two", "three")
+	seen.All(t, "none", "one", "two", "three")
 }
 
 // shareOf is what a weaver pays: one more if fewer farthings than are missing are for those before, by what was rounded.
@@ -460,7 +447,7 @@ func shareOf(pounds []int, price, number int) int {
 // TestShares is for P6.11 and P6.16: all shares together are the price, each is the exact one, less than a farthing more or less, and who bought more pays no less.
 func TestShares(t *testing.T) {
 	d := dice{16}
-	seen := cases{}
+	seen := samples.Cases{}
 	for range 10 * tries {
 		pounds, price := d.pounds(), d.From(0, []int{30, api.MaxSoapMoney}[d.From(0, 1)])
 		shares := share(t, pounds, price)
@@ -494,5 +481,5 @@ func TestShares(t *testing.T) {
 			}
 		}
 	}
-	seen.all(t, "the first ones", "exact", "rounded")
+	seen.All(t, "the first ones", "exact", "rounded")
 }

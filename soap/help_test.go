@@ -48,30 +48,13 @@ func has(ounces, bears int) api.SoapCloth {
 	return cloth(to(weight, weight), to(grease, grease), bears)
 }
 
-// lists yields the lists that have a number of each span: the smaller lists first.
-func lists(spans ...api.Span) iter.Seq[[]int] {
-	return func(yield func([]int) bool) {
-		if len(spans) == 0 {
-			yield(nil)
-			return
-		}
-		for x := spans[0].Low; x <= spans[0].High; x++ {
-			for list := range lists(spans[1:]...) {
-				if !yield(append([]int{x}, list...)) {
-					return
-				}
-			}
-		}
-	}
-}
-
 // mixes yields all mixes of a store.
 func mixes(s []api.SoapSort) iter.Seq[[]int] {
 	var spans []api.Span
 	for _, x := range s {
 		spans = append(spans, to(0, x.Has))
 	}
-	return lists(spans...)
+	return samples.Lists(spans...)
 }
 
 // truth is what a cloth and a store are in a truth.
@@ -87,7 +70,7 @@ func truths(s []api.SoapSort, c api.SoapCloth) iter.Seq[truth] {
 		spans = append(spans, x.Takes)
 	}
 	return func(yield func(truth) bool) {
-		for list := range lists(spans...) {
+		for list := range samples.Lists(spans...) {
 			if !yield(truth{list[0], list[1], list[2:]}) {
 				return
 			}
@@ -243,7 +226,7 @@ func suspectsOf(barrels int, trials []api.SoapTrial, wrong int) []int {
 // layings are all ways in which so many barrels are laid on both pans.
 func layings(barrels int) []api.SoapTrial {
 	var list []api.SoapTrial
-	for places := range lists(slices.Repeat([]api.Span{to(0, 2)}, barrels)...) {
+	for places := range samples.Lists(slices.Repeat([]api.Span{to(0, 2)}, barrels)...) {
 		var pans [3][]int
 		for b, place := range places {
 			pans[place] = append(pans[place], b)

@@ -127,23 +127,17 @@ func TestAnyArguments(t *testing.T) {
 	samples.AnyArguments(t, 2000, thrown, copied, ask, fmt.Sprint, api.OK, api.ErrArg, api.ErrRange, api.ErrForm, api.ErrLong, api.ErrNone, api.ErrFull, api.ErrState)
 }
 
-// roomy is a list with the same elements as another one, and spare room behind them that is not zero.
-func roomy[E any](list []E, behind E) []E {
-	longer := append(slices.Clone(list), behind, behind)
-	return longer[:len(list)]
-}
-
 // spare is a question whose lists have spare room, and all of this room.
 func spare(q question) (with, room question) {
 	with = copied(q)
-	with.store = roomy(q.store, sort(to(7, 8), 9, 9, 9))
-	with.cloths = roomy(q.cloths, greasy())
-	with.mix, with.pounds = roomy(q.mix, 77), roomy(q.pounds, 77)
-	with.barrels = roomy(q.barrels, barrel(7, 7, 7, to(7, 7)))
+	with.store = samples.Roomy(q.store, sort(to(7, 8), 9, 9, 9))
+	with.cloths = samples.Roomy(q.cloths, greasy())
+	with.mix, with.pounds = samples.Roomy(q.mix, 77), samples.Roomy(q.pounds, 77)
+	with.barrels = samples.Roomy(q.barrels, barrel(7, 7, 7, to(7, 7)))
 	for i, t := range q.trials {
-		with.trials[i] = trial(roomy(t.Left, 77), roomy(t.Right, 77), t.Lighter)
+		with.trials[i] = trial(samples.Roomy(t.Left, 77), samples.Roomy(t.Right, 77), t.Lighter)
 	}
-	with.trials = roomy(with.trials, thirds())
+	with.trials = samples.Roomy(with.trials, thirds())
 	room = with
 	room.store, room.cloths, room.mix = with.store[:len(q.store)+2], with.cloths[:len(q.cloths)+2], with.mix[:len(q.mix)+2]
 	room.barrels, room.trials, room.pounds = with.barrels[:len(q.barrels)+2], slices.Clone(with.trials[:len(q.trials)+2]), with.pounds[:len(q.pounds)+2]

@@ -1,11 +1,11 @@
 package stock
 
 import (
-	"cmp"
 	"iter"
 	"slices"
 
 	"walkmill/api"
+	"walkmill/sets"
 	"walkmill/valid"
 )
 
@@ -124,7 +124,7 @@ func wrong(c api.StockCloth) []int {
 	found := false
 	for set := range 1 << len(c.Measures) {
 		list, rest := doubted(c, set)
-		better := !found || cmp.Or(cmp.Compare(len(list), len(best)), slices.Compare(list, best)) < 0
+		better := !found || sets.Compare(list, best) < 0
 		if better && possible(rest) {
 			best, found = list, true
 		}

@@ -23,6 +23,7 @@ var layers = []struct{ name, words string }{
 	{"turn", "closure variadic embedding promoted range-function range-integer method-value copy"},
 	{"tenter", "closure variadic embedding promoted map range-function method-value array"},
 	{"soap", "closure variadic embedding promoted range-function range-integer generic-function label"},
+	{"seal", "closure variadic embedding promoted map array range-function range-integer range-string rune iota label delete method-value"},
 }
 
 // TestWays looks for the features in all code that the exported functions of a layer reach.
@@ -120,6 +121,9 @@ func (p *program) declare(file *ast.File) {
 				case *ast.ValueSpec:
 					for _, name := range s.Names {
 						p.declared[p.info.Defs[name]] = s
+						if d.Tok == token.CONST { // a line can repeat the one above it, so the whole group declares it
+							p.declared[p.info.Defs[name]] = d
+						}
 					}
 				}
 			}
@@ -161,7 +165,7 @@ func waysOf(t *testing.T, layer string) map[string]bool {
 	return found
 }
 
-// used returns the object of the project that a name stands for, if it is one.
+// used returns the object of the project that a name stands for, if it is one. What package api has is given, and says nothing of the layers.
 func (p *program) used(n ast.Node) types.Object {
 	name, ok := n.(*ast.Ident)
 	if !ok {
@@ -171,7 +175,7 @@ func (p *program) used(n ast.Node) types.Object {
 	if f, ok := o.(*types.Func); ok {
 		o = f.Origin()
 	}
-	if p.declared[o] == nil {
+	if p.declared[o] == nil || o.Pkg().Name() == "api" {
 		return nil
 	}
 	return o
@@ -204,7 +208,12 @@ func (p *program) word(n ast.Node) string {
 		return when(ok && (x.Op == token.EQL || x.Op == token.NEQ), "struct-compared")
 	case *ast.CallExpr:
 		f, ok := ast.Unparen(x.Fun).(*ast.Ident)
-		return when(ok && p.info.Uses[f] == types.Universe.Lookup("copy"), "copy")
+		return when(ok && (p.universal(f, "copy") || p.universal(f, "delete")), types.ExprString(x.Fun))
+	case *ast.Ident:
+		if p.universal(x, "iota") {
+			return "iota"
+		}
+		return when(p.isRune(p.info.Uses[x]), "rune")
 	case *ast.RangeStmt:
 		return p.ranged(x)
 	}
@@ -229,9 +238,22 @@ func (p *program) ranged(x *ast.RangeStmt) string {
 	case *types.Signature:
 		return "range-function"
 	case *types.Basic:
+		if t.Info()&types.IsString != 0 {
+			return "range-string"
+		}
 		return when(t.Info()&types.IsInteger != 0, "range-integer")
 	}
 	return ""
+}
+
+// universal reports whether a name stands for what the language calls so.
+func (p *program) universal(x *ast.Ident, name string) bool {
+	return p.info.Uses[x] == types.Universe.Lookup(name)
+}
+
+// isRune reports whether an object is the type rune, or a variable of it.
+func (p *program) isRune(o types.Object) bool {
+	return o != nil && o.Type() == types.Universe.Lookup("rune").Type()
 }
 
 // structKeys reports whether an expression is a map whose keys are structs.
