@@ -130,6 +130,46 @@ type Tester interface {
 	Fatalf(format string, args ...any)
 }
 
+// Value fails unless a result is as it is said to be, with its error.
+func Value[V comparable](t Tester, name string, want V, error api.Errno) func(value V, e api.Errno) {
+	return func(value V, e api.Errno) {
+		t.Helper()
+		if value != want || e != error {
+			t.Errorf("%s = %v, %d, not %v, %d", name, value, e, want, error)
+		}
+	}
+}
+
+// Two fails unless two results are as they are said to be, with their error.
+func Two[V comparable](t Tester, name string, want, other V, error api.Errno) func(a, b V, e api.Errno) {
+	return func(a, b V, e api.Errno) {
+		t.Helper()
+		if a != want || b != other || e != error {
+			t.Errorf("%s = %v, %v, %d, not %v, %v, %d", name, a, b, e, want, other, error)
+		}
+	}
+}
+
+// List fails unless a list is as it is said to be, with its error.
+func List[E comparable](t Tester, name string, want []E, error api.Errno) func(list []E, e api.Errno) {
+	return func(list []E, e api.Errno) {
+		t.Helper()
+		if !slices.Equal(list, want) || e != error {
+			t.Errorf("%s = %v, %d, not %v, %d", name, list, e, want, error)
+		}
+	}
+}
+
+// Table fails unless a list of lists is as it is said to be, with its error.
+func Table[E comparable](t Tester, name string, want [][]E, error api.Errno) func(list [][]E, e api.Errno) {
+	return func(list [][]E, e api.Errno) {
+		t.Helper()
+		if !slices.EqualFunc(list, want, slices.Equal[[]E]) || e != error {
+			t.Errorf("%s = %v, %d, not %v, %d", name, list, e, want, error)
+		}
+	}
+}
+
 // AnyArguments fails unless each of n wild questions is left as it was, and answered alike if it is asked again, and unless each of some errors is among the answers. Text writes values, as fmt.Sprint does.
 func AnyArguments[Q any](t Tester, n int, wild func() Q, copied func(Q) Q, ask func(Q) []any, text func(...any) string, errors ...api.Errno) {
 	t.Helper()
@@ -153,6 +193,58 @@ func AnyArguments[Q any](t Tester, n int, wild func() Q, copied func(Q) Q, ask f
 	for _, e := range errors {
 		if !seen[e] {
 			t.Errorf("the error %d is not tried", e)
+		}
+	}
+}
+
+// OwnMemory fails unless each of n questions, and all the room of its lists, is as it was when it was answered and its answers were wiped out, and unless it is answered alike then. Text writes values, as fmt.Sprint does.
+func OwnMemory[Q any](t Tester, n int, spare func() (q, room Q), ask func(Q) []any, wipe func(result any), text func(...any) string) {
+	t.Helper()
+	for range n {
+		q, room := spare()
+		before := text(q, room)
+		first := text(ask(q)...)
+		for _, result := range ask(q) { // what a caller writes into a result must be seen nowhere else
+			wipe(result)
+		}
+		if after := text(q, room); after != before {
+			t.Fatalf("%s is changed to %s", before, after)
+		}
+		if second := text(ask(q)...); second != first {
+			t.Fatalf("%s, and %s", first, second)
+		}
+	}
+}
+
+// Wipe clears a list with all its room.
+func Wipe[E any](list []E) { clear(list[:cap(list)]) }
+
+// WipeAll clears a list of lists, and each of them, with all their room.
+func WipeAll[E any](lists [][]E) {
+	for _, list := range lists {
+		Wipe(list)
+	}
+	Wipe(lists)
+}
+
+// OwnLists fails unless each of some lists is as it was when all others are wiped out. Text writes values, as fmt.Sprint does.
+func OwnLists[E any](t Tester, lists [][]E, text func(...any) string) {
+	t.Helper()
+	var kept [][]E
+	for _, list := range lists {
+		kept = append(kept, slices.Clone(list))
+	}
+	for number, list := range lists {
+		for other := range lists {
+			if other != number {
+				Wipe(lists[other])
+			}
+		}
+		if before, after := text(kept[number]), text(list); before != after {
+			t.Fatalf("%s is changed to %s", before, after)
+		}
+		for other := range lists {
+			copy(lists[other], kept[other])
 		}
 	}
 }

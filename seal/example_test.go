@@ -6,6 +6,7 @@ import (
 	"testing"
 
 	"walkmill/api"
+	"walkmill/samples"
 	"walkmill/seal"
 )
 
@@ -24,26 +25,6 @@ func ExampleBest() {
 	kind, fine, e := seal.Best(s, []int{438, 62, 140})
 	fmt.Println(kind, fine, e == api.OK)
 	// Output: 1 4 true
-}
-
-// list fails unless a list is as it is said to be, with its error.
-func list[E comparable](t *testing.T, name string, want []E, error api.Errno) func(list []E, e api.Errno) {
-	return func(list []E, e api.Errno) {
-		t.Helper()
-		if !slices.Equal(list, want) || e != error {
-			t.Errorf("%s = %v, %d, not %v, %d", name, list, e, want, error)
-		}
-	}
-}
-
-// numbers fails unless two numbers are as they are said to be, with their error.
-func numbers(t *testing.T, name string, want, other int, error api.Errno) func(a, b int, e api.Errno) {
-	return func(a, b int, e api.Errno) {
-		t.Helper()
-		if a != want || b != other || e != error {
-			t.Errorf("%s = %d, %d, %d, not %d, %d, %d", name, a, b, e, want, other, error)
-		}
-	}
 }
 
 // kinds fails unless the kinds of a reading are as they are said to be.
@@ -96,33 +77,33 @@ func TestExampleOfFine(t *testing.T) {
 
 // TestExampleOfBest is for the example 3 of the chapter.
 func TestExampleOfBest(t *testing.T) {
-	numbers(t, "Best", 1, 4, api.OK)(seal.Best(statute(), []int{438, 62, 140}))
-	numbers(t, "Best", 0, 0, api.ErrState)(seal.Best(statute(), []int{890, 59, 341}))
+	samples.Two(t, "Best", 1, 4, api.OK)(seal.Best(statute(), []int{438, 62, 140}))
+	samples.Two(t, "Best", 0, 0, api.ErrState)(seal.Best(statute(), []int{890, 59, 341}))
 }
 
 // TestExampleOfLook is for the example 4 of the chapter.
 func TestExampleOfLook(t *testing.T) {
-	numbers(t, "Look", 0, 0, api.ErrTwice)(seal.Look(statute(), []int{438, 62, 140}))
+	samples.Two(t, "Look", 0, 0, api.ErrTwice)(seal.Look(statute(), []int{438, 62, 140}))
 }
 
 // TestExampleOfMarks is for the example 5 of the chapter.
 func TestExampleOfMarks(t *testing.T) {
-	list[api.SealPair](t, "Alike", nil, api.OK)(seal.Alike(statute()))
+	samples.List[api.SealPair](t, "Alike", nil, api.OK)(seal.Alike(statute()))
 	torn(t, statute(), "?ers??", []int{1}, api.OK)
 }
 
 // TestExampleOfForged is for the example 6 of the chapter, and the example 7 of DOC.md.
 func TestExampleOfForged(t *testing.T) {
-	list(t, "Forged", []int{1}, api.OK)(seal.Forged([]api.SealStrike{strike(1, 5), strike(2, 9), strike(3, 7), strike(4, 8)}))
+	samples.List(t, "Forged", []int{1}, api.OK)(seal.Forged([]api.SealStrike{strike(1, 5), strike(2, 9), strike(3, 7), strike(4, 8)}))
 }
 
 // TestExampleOfCord is for the example 7 of the chapter.
 func TestExampleOfCord(t *testing.T) {
 	rows := []api.SealRow{row(1, 385), row(1, 420)}
-	list(t, "Cord", []api.Span{to(12, 23)}, api.OK)(seal.Cord(statute(), rows, 0))
+	samples.List(t, "Cord", []api.Span{to(12, 23)}, api.OK)(seal.Cord(statute(), rows, 0))
 	wrong(t, "two rows", nil, 0, api.ErrTwice)(seal.Wrong(statute(), rows, 0))
 	rows = append(rows, row(1, 300))
-	list[api.Span](t, "Cord with one more", nil, api.OK)(seal.Cord(statute(), rows, 0))
+	samples.List[api.Span](t, "Cord with one more", nil, api.OK)(seal.Cord(statute(), rows, 0))
 	wrong(t, "three rows", []int{2}, 12, api.OK)(seal.Wrong(statute(), rows, 0))
 }
 
@@ -130,6 +111,6 @@ func TestExampleOfCord(t *testing.T) {
 func TestExampleOfTheDesk(t *testing.T) {
 	s := statute()
 	s.Kinds = s.Kinds[1:2]
-	numbers(t, "Best", 0, 4, api.OK)(seal.Best(s, []int{438, 62, 140}))
+	samples.Two(t, "Best", 0, 4, api.OK)(seal.Best(s, []int{438, 62, 140}))
 	torn(t, s, "?ers??", []int{0}, api.OK)
 }

@@ -106,11 +106,11 @@ func TestBestOfAllTruths(t *testing.T) {
 		all := count(s, read)
 		want, found := bestOf(all)
 		if !found {
-			numbers(t, "Best", 0, 0, api.ErrState)(seal.Best(s, read))
+			samples.Two(t, "Best", 0, 0, api.ErrState)(seal.Best(s, read))
 			seen["none"]++
 			continue
 		}
-		numbers(t, "Best", want, all[want].fine.High, api.OK)(seal.Best(s, read))
+		samples.Two(t, "Best", want, all[want].fine.High, api.OK)(seal.Best(s, read))
 		for kind, other := range all {
 			switch {
 			case kind != want && other.seals == other.truths && other.fine.High == all[want].fine.High:
@@ -200,12 +200,12 @@ func TestLookOfAllFindings(t *testing.T) {
 		most, now := mostLeft(s, read)
 		left := slices.Min(most[:])
 		if left == now {
-			numbers(t, "Look", 0, 0, api.ErrTwice)(seal.Look(s, read))
+			samples.Two(t, "Look", 0, 0, api.ErrTwice)(seal.Look(s, read))
 			seen["none"]++
 			continue
 		}
 		want := slices.Index(most[:], left)
-		numbers(t, "Look", want, left, api.OK)(seal.Look(s, read))
+		samples.Two(t, "Look", want, left, api.OK)(seal.Look(s, read))
 		seen[[]string{"long", "wide", "heavy"}[want]]++
 		if slices.Contains(most[want+1:], left) {
 			seen["several"]++
@@ -278,7 +278,7 @@ func TestAlikeOfAllIntegers(t *testing.T) {
 				}
 			}
 		}
-		list(t, "Alike", want, api.OK)(seal.Alike(s))
+		samples.List(t, "Alike", want, api.OK)(seal.Alike(s))
 	}
 	seen.All(t, "alike", "not alike")
 }
@@ -333,7 +333,7 @@ func TestForgedOfAllSets(t *testing.T) {
 		}
 		l := d.strikes(n, d.some(d.From(0, n), n))
 		want := forgedOf(l)
-		list(t, "Forged", want, api.OK)(seal.Forged(l))
+		samples.List(t, "Forged", want, api.OK)(seal.Forged(l))
 		switch len(want) {
 		case 0:
 			seen["none"]++
@@ -352,7 +352,7 @@ func TestOwnSeals(t *testing.T) {
 	seen := samples.Cases{}
 	for range tries {
 		n := d.From(0, api.MaxSealStrikes)
-		list[int](t, "Forged of one's own", nil, api.OK)(seal.Forged(d.strikes(n, nil)))
+		samples.List[int](t, "Forged of one's own", nil, api.OK)(seal.Forged(d.strikes(n, nil)))
 		changed := d.some(d.From(0, n/2), n)
 		forged, e := seal.Forged(d.strikes(n, changed))
 		if e != api.OK || len(forged) > len(changed) {
@@ -376,7 +376,7 @@ func TestCordOfAllShifts(t *testing.T) {
 		rows := d.rows(s, size, d.From(0, 4), d.From(-40, 40))
 		d.slip(rows, d.some(min(len(rows), d.From(0, 1)), len(rows)))
 		want := cordOf(s, rows, size)
-		list(t, "Cord", want, api.OK)(seal.Cord(s, rows, size))
+		samples.List(t, "Cord", want, api.OK)(seal.Cord(s, rows, size))
 		switch {
 		case len(want) == 0:
 			seen["none"]++

@@ -3,7 +3,6 @@ package seal_test
 import (
 	"fmt"
 	"math"
-	"reflect"
 	"slices"
 	"testing"
 
@@ -132,27 +131,17 @@ func spare(q question) (with, room question) {
 // TestMemory is for P2, R3 and R4: no argument is changed, nor what lies behind its end, and no result shares memory with one.
 func TestMemory(t *testing.T) {
 	d := dice{18}
-	for range 100 {
-		q, room := spare(tame(&d))
-		before, behind := copied(q), copied(room)
-		first := ask(q)
-		for _, result := range ask(q) { // what a caller writes into a result must be seen nowhere else
-			switch l := result.(type) {
-			case []int:
-				clear(l[:cap(l)])
-			case []api.Span:
-				clear(l[:cap(l)])
-			case []api.SealPair:
-				clear(l[:cap(l)])
-			}
+	thrown := func() (q, room question) { return spare(tame(&d)) }
+	samples.OwnMemory(t, 100, thrown, ask, func(result any) {
+		switch l := result.(type) {
+		case []int:
+			samples.Wipe(l)
+		case []api.Span:
+			samples.Wipe(l)
+		case []api.SealPair:
+			samples.Wipe(l)
 		}
-		if !reflect.DeepEqual(q, before) || !reflect.DeepEqual(room, behind) {
-			t.Fatalf("%v is changed to %v", behind, room)
-		}
-		if second := ask(q); fmt.Sprint(first) != fmt.Sprint(second) {
-			t.Fatalf("%v, and %v", first, second)
-		}
-	}
+	}, fmt.Sprint)
 }
 
 // TestOwnLists is for R4: the lists of a result share no memory with each other.

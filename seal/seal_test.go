@@ -7,6 +7,7 @@ import (
 	"testing"
 
 	"walkmill/api"
+	"walkmill/samples"
 	"walkmill/seal"
 )
 
@@ -222,13 +223,13 @@ func TestBest(t *testing.T) {
 		"not below 0":            {off(lengths(5, to(5, 9)), 3, 0, 0), 1, 0, 5, api.OK},
 		"the first one for free": {off(lengths(50, to(0, 90), to(0, 90)), 3, 0, 0), 50, 0, 0, api.OK},
 	} {
-		numbers(t, name, x.kind, x.fine, x.e)(seal.Best(x.s, []int{x.long, 0, 0}))
+		samples.Two(t, name, x.kind, x.fine, x.e)(seal.Best(x.s, []int{x.long, 0, 0}))
 	}
 	// Each size must be within Grace, however little the fine is together.
 	s := lengths(10, to(0, 0), to(20, 30))
-	numbers(t, "all sizes", 0, 30, api.OK)(seal.Best(s, []int{10, 10, 10}))
-	numbers(t, "not the width", 0, 0, api.ErrState)(seal.Best(s, []int{0, 11, 0}))
-	numbers(t, "not the weight", 0, 0, api.ErrState)(seal.Best(s, []int{0, 0, 11}))
+	samples.Two(t, "all sizes", 0, 30, api.OK)(seal.Best(s, []int{10, 10, 10}))
+	samples.Two(t, "not the width", 0, 0, api.ErrState)(seal.Best(s, []int{0, 11, 0}))
+	samples.Two(t, "not the weight", 0, 0, api.ErrState)(seal.Best(s, []int{0, 0, 11}))
 }
 
 // TestLook is for P7.5: one size that decides, another one, one that leaves more, and none.
@@ -241,14 +242,14 @@ func TestLook(t *testing.T) {
 		s.Off[size] = 1
 		return s
 	}
-	numbers(t, "the length", 0, 2, api.OK)(seal.Look(halves(0), []int{10, 0, 0}))
-	numbers(t, "the width", 1, 2, api.OK)(seal.Look(halves(1), []int{0, 10, 0}))
-	numbers(t, "the weight", 2, 2, api.OK)(seal.Look(halves(2), []int{0, 0, 11}))
-	numbers(t, "the length, above", 0, 2, api.OK)(seal.Look(halves(0), []int{11, 0, 0}))
-	numbers(t, "all are left", 0, 0, api.ErrTwice)(seal.Look(halves(0), []int{12, 0, 0}))
-	numbers(t, "one kind", 0, 0, api.ErrTwice)(seal.Look(halves(0), []int{9, 0, 0}))
-	numbers(t, "no kind", 0, 0, api.ErrTwice)(seal.Look(halves(0), []int{9, 9, 0}))
-	numbers(t, "nothing is not known", 0, 0, api.ErrTwice)(seal.Look(off(halves(0), 0, 0, 0), []int{10, 0, 0}))
+	samples.Two(t, "the length", 0, 2, api.OK)(seal.Look(halves(0), []int{10, 0, 0}))
+	samples.Two(t, "the width", 1, 2, api.OK)(seal.Look(halves(1), []int{0, 10, 0}))
+	samples.Two(t, "the weight", 2, 2, api.OK)(seal.Look(halves(2), []int{0, 0, 11}))
+	samples.Two(t, "the length, above", 0, 2, api.OK)(seal.Look(halves(0), []int{11, 0, 0}))
+	samples.Two(t, "all are left", 0, 0, api.ErrTwice)(seal.Look(halves(0), []int{12, 0, 0}))
+	samples.Two(t, "one kind", 0, 0, api.ErrTwice)(seal.Look(halves(0), []int{9, 0, 0}))
+	samples.Two(t, "no kind", 0, 0, api.ErrTwice)(seal.Look(halves(0), []int{9, 9, 0}))
+	samples.Two(t, "nothing is not known", 0, 0, api.ErrTwice)(seal.Look(off(halves(0), 0, 0, 0), []int{10, 0, 0}))
 
 	s := off(lengths(0, to(0, 0), to(0, 0), to(0, 0)), 9, 9, 9)
 	for size, spans := range [][]api.Span{{to(0, 5), to(5, 9), to(6, 9)}, {to(0, 5), to(6, 9), to(10, 19)}, {to(0, 5), to(6, 9), to(6, 9)}} {
@@ -256,14 +257,14 @@ func TestLook(t *testing.T) {
 			s.Kinds[kind].Sizes[size] = span
 		}
 	}
-	numbers(t, "the one that leaves less", 1, 1, api.OK)(seal.Look(s, []int{5, 5, 5}))
-	numbers(t, "of two kinds", 1, 1, api.OK)(seal.Look(off(s, 9, 4, 9), []int{5, 5, 5}))
+	samples.Two(t, "the one that leaves less", 1, 1, api.OK)(seal.Look(s, []int{5, 5, 5}))
+	samples.Two(t, "of two kinds", 1, 1, api.OK)(seal.Look(off(s, 9, 4, 9), []int{5, 5, 5}))
 	alike := set(s, func(s *api.SealStatute) {
 		for kind := range s.Kinds {
 			s.Kinds[kind].Sizes[1] = to(0, 19)
 		}
 	})
-	numbers(t, "the first one of several", 0, 2, api.OK)(seal.Look(alike, []int{5, 5, 5}))
+	samples.Two(t, "the first one of several", 0, 2, api.OK)(seal.Look(alike, []int{5, 5, 5}))
 }
 
 // TestAlike is for P7.6: spans with one integer in common, with none for one of the sizes, and all kinds of the most that there may be.
@@ -275,18 +276,18 @@ func TestAlike(t *testing.T) {
 		}
 		return all
 	}
-	list[api.SealPair](t, "one", nil, api.OK)(seal.Alike(lengths(50, to(5, 5))))
-	list(t, "touching", pairs(0, 1), api.OK)(seal.Alike(lengths(0, to(5, 7), to(7, 9))))
-	list[api.SealPair](t, "not touching", nil, api.OK)(seal.Alike(off(lengths(50, to(5, 6), to(7, 9)), 20, 20, 20)))
-	list(t, "the other way", pairs(0, 1), api.OK)(seal.Alike(lengths(0, to(7, 9), to(5, 7))))
-	list(t, "one within", pairs(0, 1), api.OK)(seal.Alike(lengths(0, to(0, 2000), to(7, 7))))
-	list(t, "a chain", pairs(0, 1, 1, 2), api.OK)(seal.Alike(lengths(0, to(1, 3), to(3, 5), to(5, 9))))
-	list(t, "the ends", pairs(0, 2), api.OK)(seal.Alike(lengths(0, to(1, 3), to(4, 5), to(0, 1))))
-	list(t, "six", pairs(0, 1, 0, 2, 0, 3, 0, 4, 0, 5, 1, 2, 1, 3, 1, 4, 1, 5, 2, 3, 2, 4, 2, 5, 3, 4, 3, 5, 4, 5), api.OK)(seal.Alike(many(6)))
+	samples.List[api.SealPair](t, "one", nil, api.OK)(seal.Alike(lengths(50, to(5, 5))))
+	samples.List(t, "touching", pairs(0, 1), api.OK)(seal.Alike(lengths(0, to(5, 7), to(7, 9))))
+	samples.List[api.SealPair](t, "not touching", nil, api.OK)(seal.Alike(off(lengths(50, to(5, 6), to(7, 9)), 20, 20, 20)))
+	samples.List(t, "the other way", pairs(0, 1), api.OK)(seal.Alike(lengths(0, to(7, 9), to(5, 7))))
+	samples.List(t, "one within", pairs(0, 1), api.OK)(seal.Alike(lengths(0, to(0, 2000), to(7, 7))))
+	samples.List(t, "a chain", pairs(0, 1, 1, 2), api.OK)(seal.Alike(lengths(0, to(1, 3), to(3, 5), to(5, 9))))
+	samples.List(t, "the ends", pairs(0, 2), api.OK)(seal.Alike(lengths(0, to(1, 3), to(4, 5), to(0, 1))))
+	samples.List(t, "six", pairs(0, 1, 0, 2, 0, 3, 0, 4, 0, 5, 1, 2, 1, 3, 1, 4, 1, 5, 2, 3, 2, 4, 2, 5, 3, 4, 3, 5, 4, 5), api.OK)(seal.Alike(many(6)))
 	for size := range 3 {
 		s := many(2)
 		s.Kinds[1].Sizes[size] = to(1, 1)
-		list[api.SealPair](t, "not by one size", nil, api.OK)(seal.Alike(s))
+		samples.List[api.SealPair](t, "not by one size", nil, api.OK)(seal.Alike(s))
 	}
 }
 
@@ -329,28 +330,28 @@ func forge(list ...int) ([]int, api.Errno) {
 // TestForged is for P7.8: seals of one day, with one number, in any order, and the most that there may be.
 func TestForged(t *testing.T) {
 	none := []int(nil)
-	list(t, "no seals", none, api.OK)(seal.Forged(nil))
-	list(t, "one", none, api.OK)(forge(400, 9999))
-	list(t, "in order", none, api.OK)(forge(1, 1, 2, 2, 400, 9999))
-	list(t, "in another order", none, api.OK)(forge(9, 5, 3, 1, 4, 2))
-	list(t, "of one day", none, api.OK)(forge(5, 7, 5, 3, 5, 9))
-	list(t, "one number of one day", []int{0}, api.OK)(forge(5, 7, 5, 7))
-	list(t, "one number of two days", []int{0}, api.OK)(forge(5, 7, 6, 7))
-	list(t, "three with one number", []int{0, 1}, api.OK)(forge(5, 7, 6, 7, 5, 7))
-	list(t, "of two ones the first one", []int{0}, api.OK)(forge(1, 2, 2, 1))
-	list(t, "the last one", []int{2}, api.OK)(forge(1, 1, 2, 3, 3, 2, 2, 4)) // not 1 and 3
-	list(t, "one instead of two", []int{1}, api.OK)(forge(3, 3, 1, 9, 4, 4))
-	list(t, "two pairs", []int{0, 2}, api.OK)(forge(1, 2, 2, 1, 3, 8, 4, 7))
-	list(t, "a day between", []int{1}, api.OK)(forge(5, 7, 6, 8, 5, 9))
+	samples.List(t, "no seals", none, api.OK)(seal.Forged(nil))
+	samples.List(t, "one", none, api.OK)(forge(400, 9999))
+	samples.List(t, "in order", none, api.OK)(forge(1, 1, 2, 2, 400, 9999))
+	samples.List(t, "in another order", none, api.OK)(forge(9, 5, 3, 1, 4, 2))
+	samples.List(t, "of one day", none, api.OK)(forge(5, 7, 5, 3, 5, 9))
+	samples.List(t, "one number of one day", []int{0}, api.OK)(forge(5, 7, 5, 7))
+	samples.List(t, "one number of two days", []int{0}, api.OK)(forge(5, 7, 6, 7))
+	samples.List(t, "three with one number", []int{0, 1}, api.OK)(forge(5, 7, 6, 7, 5, 7))
+	samples.List(t, "of two ones the first one", []int{0}, api.OK)(forge(1, 2, 2, 1))
+	samples.List(t, "the last one", []int{2}, api.OK)(forge(1, 1, 2, 3, 3, 2, 2, 4)) // not 1 and 3
+	samples.List(t, "one instead of two", []int{1}, api.OK)(forge(3, 3, 1, 9, 4, 4))
+	samples.List(t, "two pairs", []int{0, 2}, api.OK)(forge(1, 2, 2, 1, 3, 8, 4, 7))
+	samples.List(t, "a day between", []int{1}, api.OK)(forge(5, 7, 6, 8, 5, 9))
 	var rising, falling, same []api.SealStrike
 	for i := range 12 {
 		rising = append(rising, strike(i+1, i+1))
 		falling = append(falling, strike(i+1, 12-i))
 		same = append(same, strike(1, 1))
 	}
-	list(t, "twelve", none, api.OK)(seal.Forged(rising))
-	list(t, "all but the last", []int{0, 1, 2, 3, 4, 5, 6, 7, 8, 9, 10}, api.OK)(seal.Forged(falling))
-	list(t, "all the same", []int{0, 1, 2, 3, 4, 5, 6, 7, 8, 9, 10}, api.OK)(seal.Forged(same))
+	samples.List(t, "twelve", none, api.OK)(seal.Forged(rising))
+	samples.List(t, "all but the last", []int{0, 1, 2, 3, 4, 5, 6, 7, 8, 9, 10}, api.OK)(seal.Forged(falling))
+	samples.List(t, "all the same", []int{0, 1, 2, 3, 4, 5, 6, 7, 8, 9, 10}, api.OK)(seal.Forged(same))
 }
 
 // TestForgedErrors is for P7.8 and R1: how many seals there are comes before what they are; each limit is exceeded by one.
@@ -358,7 +359,7 @@ func TestForgedErrors(t *testing.T) {
 	good := strike(1, 1)
 	fails := func(want api.Errno, l ...api.SealStrike) {
 		t.Helper()
-		list[int](t, "Forged", nil, want)(seal.Forged(l))
+		samples.List[int](t, "Forged", nil, want)(seal.Forged(l))
 	}
 	fails(api.ErrLong, slices.Repeat([]api.SealStrike{good}, 13)...)
 	fails(api.ErrLong, make([]api.SealStrike, 13)...)
@@ -414,7 +415,7 @@ func TestCord(t *testing.T) {
 		"nothing, read as 0": {[]api.SealRow{row(2, 0)}, []api.Span{to(-2, 2)}},
 		"the most":           {[]api.SealRow{row(3, 2000)}, []api.Span{to(-2, 2)}},
 	} {
-		list(t, name, x.want, api.OK)(seal.Cord(s, x.rows, 0))
+		samples.List(t, name, x.want, api.OK)(seal.Cord(s, x.rows, 0))
 		want := api.OK
 		if len(x.want) > 0 {
 			want = api.ErrTwice
@@ -425,7 +426,7 @@ func TestCord(t *testing.T) {
 	}
 	for size, want := range []api.Span{to(-3, 43), to(-1, 11), to(-2, 42)} {
 		read := []int{400, 60, 120}[size]
-		list(t, "of each size", []api.Span{to(want.Low, min(want.High, 30))}, api.OK)(seal.Cord(statute(), []api.SealRow{row(1, read)}, size))
+		samples.List(t, "of each size", []api.Span{to(want.Low, min(want.High, 30))}, api.OK)(seal.Cord(statute(), []api.SealRow{row(1, read)}, size))
 	}
 }
 

@@ -6,6 +6,7 @@ import (
 	"testing"
 
 	"walkmill/api"
+	"walkmill/samples"
 	"walkmill/soap"
 )
 
@@ -19,26 +20,6 @@ func ExampleCheapest() {
 	mix, price, e := soap.Cheapest(store, c)
 	fmt.Println(mix, price, e == api.OK)
 	// Output: [6 0] 18 true
-}
-
-// list fails unless a list is as it is said to be, with its error.
-func list(t *testing.T, name string, want []int, error api.Errno) func(list []int, e api.Errno) {
-	return func(list []int, e api.Errno) {
-		t.Helper()
-		if !slices.Equal(list, want) || e != error {
-			t.Errorf("%s = %v, %d, not %v, %d", name, list, e, want, error)
-		}
-	}
-}
-
-// number fails unless a number is as it is said to be, with its error.
-func number(t *testing.T, name string, want int, error api.Errno) func(number int, e api.Errno) {
-	return func(number int, e api.Errno) {
-		t.Helper()
-		if number != want || e != error {
-			t.Errorf("%s = %d, %d, not %d, %d", name, number, e, want, error)
-		}
-	}
 }
 
 // cheapest fails unless the cheapest mix of a cloth is as it is said to be; nil says that there is none.
@@ -85,7 +66,7 @@ func TestExampleOfCheapest(t *testing.T) {
 
 // TestExampleOfDear is for the example 3 of the chapter.
 func TestExampleOfDear(t *testing.T) {
-	number(t, "Dear", 7, api.OK)(soap.Dear(store(), greasy(), 1))
+	samples.Value(t, "Dear", 7, api.OK)(soap.Dear(store(), greasy(), 1))
 	cheapest(t, "for 7", priced(store(), 1, 7), greasy(), []int{1, 2}, 17)
 	cheapest(t, "for 8", priced(store(), 1, 8), greasy(), []int{6, 0}, 18)
 	for _, x := range []struct {
@@ -114,15 +95,15 @@ func TestExampleOfShort(t *testing.T) {
 // TestExampleOfSuspects is for the example 6 of the chapter.
 func TestExampleOfSuspects(t *testing.T) {
 	one := []api.SoapTrial{thirds()}
-	list(t, "Suspects", []int{6, 7, 8}, api.OK)(soap.Suspects(9, one, 0))
-	number(t, "Trials", 1, api.OK)(soap.Trials(9, one))
+	samples.List(t, "Suspects", []int{6, 7, 8}, api.OK)(soap.Suspects(9, one, 0))
+	samples.Value(t, "Trials", 1, api.OK)(soap.Trials(9, one))
 	two := append(one, trial([]int{6}, []int{7}, api.SoapLeft))
-	list(t, "Suspects by two trials", []int{6}, api.OK)(soap.Suspects(9, two, 0))
-	number(t, "Trials after two", 0, api.OK)(soap.Trials(9, two))
-	list(t, "Suspects by one that is misread", []int{6, 7, 8}, api.OK)(soap.Suspects(9, two, 1))
+	samples.List(t, "Suspects by two trials", []int{6}, api.OK)(soap.Suspects(9, two, 0))
+	samples.Value(t, "Trials after two", 0, api.OK)(soap.Trials(9, two))
+	samples.List(t, "Suspects by one that is misread", []int{6, 7, 8}, api.OK)(soap.Suspects(9, two, 1))
 }
 
 // TestExampleOfShare is for the example 7 of the chapter.
 func TestExampleOfShare(t *testing.T) {
-	list(t, "Share", []int{4, 4, 2}, api.OK)(soap.Share([]int{3, 3, 1}, 10))
+	samples.List(t, "Share", []int{4, 4, 2}, api.OK)(soap.Share([]int{3, 3, 1}, 10))
 }

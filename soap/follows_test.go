@@ -401,7 +401,7 @@ func TestTrialsOfAllLayings(t *testing.T) {
 		for !finds(layings(barrels), left, want) {
 			want++
 		}
-		number(t, "Trials", want, api.OK)(soap.Trials(barrels, trials))
+		samples.Value(t, "Trials", want, api.OK)(soap.Trials(barrels, trials))
 		seen[[]string{"none", "one", "two"}[want]]++
 	}
 	seen.All(t, "none", "one", "two")

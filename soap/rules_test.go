@@ -3,7 +3,6 @@ package soap_test
 import (
 	"fmt"
 	"math"
-	"reflect"
 	"slices"
 	"testing"
 
@@ -151,28 +150,15 @@ func spare(q question) (with, room question) {
 // TestMemory is for P2, R3 and R4: no argument is changed, nor what lies behind its end, and no result shares memory with one.
 func TestMemory(t *testing.T) {
 	d := dice{18}
-	for range 100 {
-		q, room := spare(tame(&d))
-		before, behind := copied(q), copied(room)
-		first := ask(q)
-		for _, result := range ask(q) { // what a caller writes into a result must be seen nowhere else
-			switch l := result.(type) {
-			case []int:
-				clear(l[:cap(l)])
-			case [][]int:
-				for _, mix := range l {
-					clear(mix[:cap(mix)])
-				}
-				clear(l[:cap(l)])
-			}
+	thrown := func() (q, room question) { return spare(tame(&d)) }
+	samples.OwnMemory(t, 100, thrown, ask, func(result any) {
+		switch l := result.(type) {
+		case []int:
+			samples.Wipe(l)
+		case [][]int:
+			samples.WipeAll(l)
 		}
-		if !reflect.DeepEqual(q, before) || !reflect.DeepEqual(room, behind) {
-			t.Fatalf("%v is changed to %v", behind, room)
-		}
-		if second := ask(q); !alike(first, second) {
-			t.Fatalf("%v, and %v", first, second)
-		}
-	}
+	}, fmt.Sprint)
 }
 
 // TestOwnLists is for R4: the lists of a result share no memory with each other.
@@ -182,17 +168,7 @@ func TestOwnLists(t *testing.T) {
 	if e != api.OK || len(l) != len(cloths) {
 		t.Fatalf("Serves = %v, %d", l, e)
 	}
-	before := fmt.Sprint(l[1:])
-	for _, mix := range l {
-		kept := slices.Clone(mix)
-		for i := range mix[:cap(mix)] {
-			mix[:cap(mix)][i] = -1
-		}
-		copy(mix, kept)
-		if after := fmt.Sprint(l[1:]); after != before {
-			t.Fatalf("%v is changed to %v", before, after)
-		}
-	}
+	samples.OwnLists(t, l, fmt.Sprint)
 	b := barrel(1, 0, 0, to(0, 0))
 	surely, possibly, _ := soap.Short([]api.SoapBarrel{b, b, b})
 	clear(surely[:cap(surely)])

@@ -244,17 +244,17 @@ func TestDear(t *testing.T) {
 		"saves just less":     {[]api.SoapSort{sort(to(20, 20), 3, 0, 1), sort(to(10, 10), 250, 0, 9)}, has(20, 0), 0, 499, api.OK},
 		"by some pounds":      {[]api.SoapSort{sort(to(10, 10), 0, 0, 9), sort(to(30, 30), 20, 0, 9)}, has(40, 0), 0, 19, api.OK},
 	} {
-		number(t, name, x.want, x.e)(soap.Dear(x.s, x.c, x.number))
+		samples.Value(t, name, x.want, x.e)(soap.Dear(x.s, x.c, x.number))
 	}
 }
 
 // TestDearErrors is for P6.6 and R1: sort is the number of a sort.
 func TestDearErrors(t *testing.T) {
 	for _, sort := range []int{-1, 2, math.MinInt, math.MaxInt} {
-		number(t, "Dear", 0, api.ErrNone)(soap.Dear(store(), greasy(), sort))
-		number(t, "Dear of what cannot be scoured", 0, api.ErrNone)(soap.Dear(store(), has(500, 0), sort))
+		samples.Value(t, "Dear", 0, api.ErrNone)(soap.Dear(store(), greasy(), sort))
+		samples.Value(t, "Dear of what cannot be scoured", 0, api.ErrNone)(soap.Dear(store(), has(500, 0), sort))
 	}
-	number(t, "Dear of the last", 7, api.OK)(soap.Dear(store(), greasy(), 1))
+	samples.Value(t, "Dear of the last", 7, api.OK)(soap.Dear(store(), greasy(), 1))
 }
 
 // TestServes is for P6.7: each cloth has the cheapest mix of what is left, up to the first one for which there is none.
@@ -352,8 +352,8 @@ func TestShortErrors(t *testing.T) {
 // balance fails unless Suspects, with nothing misread, and Trials have an error.
 func balance(t *testing.T, barrels int, trials []api.SoapTrial, wrong int, want, without api.Errno) {
 	t.Helper()
-	list(t, "Suspects", nil, want)(soap.Suspects(barrels, trials, wrong))
-	number(t, "Trials", 0, without)(soap.Trials(barrels, trials))
+	samples.List[int](t, "Suspects", nil, want)(soap.Suspects(barrels, trials, wrong))
+	samples.Value(t, "Trials", 0, without)(soap.Trials(barrels, trials))
 }
 
 // TestBalanceErrors is for P6.9, P6.10 and R1: how many barrels there are, and how many trials were misread, comes before how many trials there are, and this before what they are.
@@ -416,7 +416,7 @@ func TestSuspects(t *testing.T) {
 		"all barrels laid":  {12, []api.SoapTrial{trial([]int{0, 2, 4, 6, 8, 10}, []int{1, 3, 5, 7, 9, 11}, api.SoapRight)}, 0, []int{1, 3, 5, 7, 9, 11}, api.OK},
 		"in any order":      {5, []api.SoapTrial{trial([]int{4, 0}, []int{3, 1}, api.SoapLeft)}, 0, []int{0, 4}, api.OK},
 	} {
-		list(t, name, x.want, x.e)(soap.Suspects(x.barrels, x.trials, x.wrong))
+		samples.List(t, name, x.want, x.e)(soap.Suspects(x.barrels, x.trials, x.wrong))
 	}
 }
 
@@ -424,14 +424,14 @@ func TestSuspects(t *testing.T) {
 func TestTrials(t *testing.T) {
 	for barrels, want := range []int{2: 1, 1, 2, 2, 2, 2, 2, 2, 3, 3, 3} {
 		if barrels >= 2 {
-			number(t, "Trials", want, api.OK)(soap.Trials(barrels, nil))
+			samples.Value(t, "Trials", want, api.OK)(soap.Trials(barrels, nil))
 		}
 	}
 	even := trial([]int{0}, []int{1}, api.SoapEven)
-	number(t, "Trials of one suspect", 0, api.OK)(soap.Trials(3, []api.SoapTrial{even}))
-	number(t, "Trials of two suspects", 1, api.OK)(soap.Trials(4, []api.SoapTrial{even}))
-	number(t, "Trials of none", 0, api.ErrState)(soap.Trials(2, []api.SoapTrial{even}))
-	number(t, "Trials after eight", 2, api.OK)(soap.Trials(11, slices.Repeat([]api.SoapTrial{even}, 8)))
+	samples.Value(t, "Trials of one suspect", 0, api.OK)(soap.Trials(3, []api.SoapTrial{even}))
+	samples.Value(t, "Trials of two suspects", 1, api.OK)(soap.Trials(4, []api.SoapTrial{even}))
+	samples.Value(t, "Trials of none", 0, api.ErrState)(soap.Trials(2, []api.SoapTrial{even}))
+	samples.Value(t, "Trials after eight", 2, api.OK)(soap.Trials(11, slices.Repeat([]api.SoapTrial{even}, 8)))
 }
 
 // TestShare is for P6.11: the farthings that are missing are paid by those whose share was rounded by most, the first ones of several.
@@ -453,7 +453,7 @@ func TestShare(t *testing.T) {
 		"the greatest":     {[]int{100, 100, 100, 100, 100, 100}, 100000, []int{16667, 16667, 16667, 16667, 16666, 16666}},
 		"the most, for 1":  {[]int{1, 100}, 100000, []int{990, 99010}},
 	} {
-		list(t, name, x.want, api.OK)(soap.Share(x.pounds, x.price))
+		samples.List(t, name, x.want, api.OK)(soap.Share(x.pounds, x.price))
 	}
 }
 
@@ -470,6 +470,6 @@ func TestShareErrors(t *testing.T) {
 		{[]int{math.MinInt, 5}, 5, api.ErrArg}, {[]int{5, math.MaxInt}, 5, api.ErrArg},
 		{[]int{1}, -1, api.ErrRange}, {[]int{1}, 100001, api.ErrRange}, {[]int{1}, math.MinInt, api.ErrRange}, {[]int{100, 100}, math.MaxInt, api.ErrRange},
 	} {
-		list(t, "Share", nil, x.e)(soap.Share(x.pounds, x.price))
+		samples.List[int](t, "Share", nil, x.e)(soap.Share(x.pounds, x.price))
 	}
 }

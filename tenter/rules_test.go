@@ -134,22 +134,7 @@ func TestMemory(t *testing.T) {
 
 // TestOwnLists is for R4: the lists of a result share no memory with each other.
 func TestOwnLists(t *testing.T) {
-	l := fill(t, long([]int{3, 3, 3}, 0, 0, 1, 1, 1, 1, 1, 1, 1))
-	before := [][]int{slices.Clone(l[0]), slices.Clone(l[1]), slices.Clone(l[2])}
-	for frame := range l {
-		for other := range l {
-			list := l[other][:cap(l[other])]
-			if other != frame {
-				clear(list)
-			}
-		}
-		if !slices.Equal(l[frame], before[frame]) {
-			t.Fatalf("%v is changed to %v", before[frame], l[frame])
-		}
-		for other := range l {
-			copy(l[other], before[other])
-		}
-	}
+	samples.OwnLists(t, fill(t, long([]int{3, 3, 3}, 0, 0, 1, 1, 1, 1, 1, 1, 1)), fmt.Sprint)
 }
 
 // TestNil is for R3: a nil list and an empty one are answered alike.

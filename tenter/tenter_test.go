@@ -420,7 +420,7 @@ func TestDry(t *testing.T) {
 func TestNeed(t *testing.T) {
 	f := wet(to(10, 10), to(0, 25), to(0, 0), to(46, 46), to(500, 500))
 	for rain, want := range []int{0, 1, 3, 3, 3} {
-		number(t, "Need", want)(tenter.Need(f, fair(), rain))
+		samples.Value(t, "Need", want, api.OK)(tenter.Need(f, fair(), rain))
 	}
 	for name, f := range map[string]api.TenterField{
 		"no cloths": crowd(0), "no water": wet(to(0, 0), to(0, 0)),
@@ -435,9 +435,9 @@ func TestNeed(t *testing.T) {
 	if n, e := tenter.Need(surely, fair(), 3); n != 0 || e != api.ErrTwice {
 		t.Errorf("Need = %d, %d", n, e)
 	}
-	number(t, "Need an hour sooner", 2)(tenter.Need(surely, fair(), 2))
+	samples.Value(t, "Need an hour sooner", 2, api.OK)(tenter.Need(surely, fair(), 2))
 	unhung := field([]int{1}, 0, 0, cloth(to(1, 2000), to(1, 1)))
-	number(t, "Need of what cannot be hung", 0)(tenter.Need(unhung, fair(), 0))
+	samples.Value(t, "Need of what cannot be hung", 0, api.OK)(tenter.Need(unhung, fair(), 0))
 }
 
 // TestLate is for P5.10: the latest hour, up to that of the rain.

@@ -6,6 +6,7 @@ import (
 	"testing"
 
 	"walkmill/api"
+	"walkmill/samples"
 	"walkmill/turn"
 )
 
@@ -25,29 +26,9 @@ func ExampleFewest() {
 	// Output: 2 true
 }
 
-// list fails unless a list is as an example says, without an error.
-func list(t *testing.T, name string, want []int) func(list []int, e api.Errno) {
-	return func(list []int, e api.Errno) {
-		t.Helper()
-		if !slices.Equal(list, want) || e != api.OK {
-			t.Errorf("%s = %v, %d, not %v", name, list, e, want)
-		}
-	}
-}
-
-// number fails unless a number and an error are as an example says.
-func number(t *testing.T, name string, want int, error api.Errno) func(number int, e api.Errno) {
-	return func(number int, e api.Errno) {
-		t.Helper()
-		if number != want || e != error {
-			t.Errorf("%s = %d, %d, not %d, %d", name, number, e, want, error)
-		}
-	}
-}
-
 // TestExampleOfOrder is for the example 1 of the chapter.
 func TestExampleOfOrder(t *testing.T) {
-	list(t, "Order", []int{2, 0, 1, 3})(turn.Order(example()))
+	samples.List(t, "Order", []int{2, 0, 1, 3}, api.OK)(turn.Order(example()))
 }
 
 // TestExamplesOfStocks is for the example 2 of the chapter.
@@ -80,7 +61,7 @@ func TestExamplesOfLimits(t *testing.T) {
 			t.Errorf("Fewest(%d) = %d, not %d", limit, stocks, want)
 		}
 	}
-	list(t, "Proof", []int{0, 2})(turn.Proof(example(), 1, 6))
+	samples.List(t, "Proof", []int{0, 2}, api.OK)(turn.Proof(example(), 1, 6))
 	d := example()
 	d.Cloths = d.Cloths[:2]
 	if hours := longest(t, d, 1); hours != 6 {
@@ -90,8 +71,8 @@ func TestExamplesOfLimits(t *testing.T) {
 
 // TestExamplesOfJumped is for the example 5 of the chapter.
 func TestExamplesOfJumped(t *testing.T) {
-	list(t, "Jumped", []int{0})(turn.Jumped(example(), []int{0, 2, 1, 3}))
-	list(t, "Jumped", []int{3})(turn.Jumped(example(), []int{3, 2, 0, 1}))
+	samples.List(t, "Jumped", []int{0}, api.OK)(turn.Jumped(example(), []int{0, 2, 1, 3}))
+	samples.List(t, "Jumped", []int{3}, api.OK)(turn.Jumped(example(), []int{3, 2, 0, 1}))
 }
 
 // TestExamplesOfJoined is for the example 6 of the chapter.
@@ -99,13 +80,13 @@ func TestExamplesOfJoined(t *testing.T) {
 	if cloth, more, e := turn.Joined(example(), 1, 0, 1); cloth != 0 || more != 0 || e != api.ErrNone {
 		t.Errorf("Joined = %d, %d, %d", cloth, more, e)
 	}
-	number(t, "Slack of 3", 500, api.OK)(turn.Slack(example(), 2, 6, 3))
-	number(t, "Slack of 2", 0, api.OK)(turn.Slack(example(), 2, 6, 2))
+	samples.Value(t, "Slack of 3", 500, api.OK)(turn.Slack(example(), 2, 6, 3))
+	samples.Value(t, "Slack of 2", 0, api.OK)(turn.Slack(example(), 2, 6, 2))
 }
 
 // TestExamplesOfRanks is for the example 7 of the chapter.
 func TestExamplesOfRanks(t *testing.T) {
-	list(t, "Ranks", []int{0, 1})(turn.Ranks(example(), 2, 6))
+	samples.List(t, "Ranks", []int{0, 1}, api.OK)(turn.Ranks(example(), 2, 6))
 	if l, e := turn.Ranks(example(), 2, 5); len(l) != 0 || e != api.ErrState {
 		t.Errorf("Ranks = %v, %d", l, e)
 	}
