@@ -26,6 +26,9 @@ func (d *Dice) Mixed(n int) []int {
 	return list
 }
 
+// Some returns so many of the numbers below n, in any order.
+func (d *Dice) Some(many, n int) []int { return d.Mixed(n)[:many] }
+
 // Lies reports whether a span lies within another one.
 func Lies(inner, outer api.Span) bool {
 	return inner.Low >= outer.Low && inner.High <= outer.High
@@ -102,6 +105,15 @@ func Lists(spans ...api.Span) iter.Seq[[]int] {
 			}
 		}
 	}
+}
+
+// Tear returns a text of which the signs at some places cannot be read.
+func Tear(text string, places ...int) string {
+	signs := []byte(text)
+	for _, place := range places {
+		signs[place] = '?'
+	}
+	return string(signs)
 }
 
 // Roomy returns a list with the same elements as another one, and spare room behind them that is not zero.

@@ -291,7 +291,7 @@ func TestTornOfAllMarks(t *testing.T) {
 		s := d.statute([]measure{small, great}[i%2])
 		for i, k := range s.Kinds {
 			for _, places := range samples.Sets(len(k.Mark)) {
-				mark := tear(k.Mark, places)
+				mark := samples.Tear(k.Mark, places...)
 				want := tornOf(s, mark)
 				torn(t, s, mark, want, api.OK)
 				if !slices.Contains(want, i) {
@@ -311,7 +311,7 @@ func TestTornOfAnyMarks(t *testing.T) {
 	for range tries {
 		s := d.statute(small)
 		mark := d.mark(small.mark)
-		mark = tear(mark, d.some(d.From(0, len(mark)), len(mark)))
+		mark = samples.Tear(mark, d.Some(d.From(0, len(mark)), len(mark))...)
 		want, e := tornOf(s, mark), api.OK
 		if len(want) == 0 {
 			e = api.ErrNone
@@ -331,7 +331,7 @@ func TestForgedOfAllSets(t *testing.T) {
 		if i%50 == 0 {
 			n = api.MaxSealStrikes
 		}
-		l := d.strikes(n, d.some(d.From(0, n), n))
+		l := d.strikes(n, d.Some(d.From(0, n), n))
 		want := forgedOf(l)
 		samples.List(t, "Forged", want, api.OK)(seal.Forged(l))
 		switch len(want) {
@@ -353,7 +353,7 @@ func TestOwnSeals(t *testing.T) {
 	for range tries {
 		n := d.From(0, api.MaxSealStrikes)
 		samples.List[int](t, "Forged of one's own", nil, api.OK)(seal.Forged(d.strikes(n, nil)))
-		changed := d.some(d.From(0, n/2), n)
+		changed := d.Some(d.From(0, n/2), n)
 		forged, e := seal.Forged(d.strikes(n, changed))
 		if e != api.OK || len(forged) > len(changed) {
 			t.Fatalf("Forged = %v, %d, but %v were changed", forged, e, changed)
@@ -374,7 +374,7 @@ func TestCordOfAllShifts(t *testing.T) {
 	for i := range tries / 5 {
 		s, size := d.statute([]measure{small, great}[i%2]), d.From(0, 2)
 		rows := d.rows(s, size, d.From(0, 4), d.From(-40, 40))
-		d.slip(rows, d.some(min(len(rows), d.From(0, 1)), len(rows)))
+		d.slip(rows, d.Some(min(len(rows), d.From(0, 1)), len(rows)))
 		want := cordOf(s, rows, size)
 		samples.List(t, "Cord", want, api.OK)(seal.Cord(s, rows, size))
 		switch {
@@ -396,7 +396,7 @@ func TestWrongOfAllSets(t *testing.T) {
 	for i := range tries / 5 {
 		s, size := d.statute([]measure{small, great}[i%2]), d.From(0, 2)
 		rows := d.rows(s, size, d.From(1, api.MaxSealRows), d.From(-40, 40))
-		d.slip(rows, d.some(d.From(0, len(rows)), len(rows)))
+		d.slip(rows, d.Some(d.From(0, len(rows)), len(rows)))
 		want, shift := wrongOf(s, rows, size)
 		if len(want) == 0 {
 			wrong(t, "a book", nil, 0, api.ErrTwice)(seal.Wrong(s, rows, size))
@@ -424,7 +424,7 @@ func TestTheBook(t *testing.T) {
 			t.Fatalf("Cord(%v, %v, %d) = %v, but it was wrong by %d", s, rows, size, spans, shift)
 		}
 		wrong(t, "as it was read", nil, 0, api.ErrTwice)(seal.Wrong(s, rows, size))
-		changed := d.some(len(rows)/3, len(rows))
+		changed := d.Some(len(rows)/3, len(rows))
 		d.slip(rows, changed)
 		l, _, e := seal.Wrong(s, rows, size)
 		if e != api.OK && e != api.ErrTwice || len(l) > len(changed) {

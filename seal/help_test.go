@@ -183,21 +183,12 @@ func alike(a, b api.SealKind) bool {
 	return true
 }
 
-// tear is a mark of which the letters at some places cannot be read.
-func tear(mark string, places []int) string {
-	letters := []byte(mark)
-	for _, place := range places {
-		letters[place] = '?'
-	}
-	return string(letters)
-}
-
 // tornOf are the kinds whose marks, with some of their letters that cannot be read, are a torn one.
 func tornOf(s api.SealStatute, torn string) []int {
 	var list []int
 	for i, k := range s.Kinds {
 		for _, places := range samples.Sets(len(k.Mark)) {
-			if tear(k.Mark, places) == torn {
+			if samples.Tear(k.Mark, places...) == torn {
 				list = append(list, i)
 				break
 			}
@@ -383,9 +374,6 @@ func (d *dice) slip(rows []api.SealRow, places []int) {
 		rows[place].Reading = d.From(max(0, rows[place].Reading-70), min(rows[place].Reading+70, api.MaxSealSize))
 	}
 }
-
-// some makes a set of so many numbers below n.
-func (d *dice) some(many, n int) []int { return d.Mixed(n)[:many] }
 
 // possibly and cord ask what must not have an error.
 func possibly(t *testing.T, s api.SealStatute, read []int) []int {

@@ -4,6 +4,7 @@ import (
 	"iter"
 
 	"walkmill/api"
+	"walkmill/signs"
 )
 
 // The sizes of a cloth.
@@ -55,29 +56,13 @@ func (l law) alike() []api.SealPair {
 	return list
 }
 
-// unread stands for a letter of a torn mark that cannot be read.
-const unread = '?'
-
 // marked returns the kinds of which a seal with a torn mark can be.
 func (l law) marked(torn string) []int {
 	var list []int
 	for number, kind := range l.Kinds {
-		if reads(torn, kind.Mark) {
+		if signs.Meet(torn, kind.Mark) {
 			list = append(list, number)
 		}
 	}
 	return list
-}
-
-// reads reports whether a torn mark can be that of a kind.
-func reads(torn, mark string) bool {
-	if len(torn) != len(mark) {
-		return false
-	}
-	for place, letter := range torn {
-		if letter != unread && letter != rune(mark[place]) {
-			return false
-		}
-	}
-	return true
 }

@@ -58,10 +58,10 @@ func tame(d *dice) question {
 	q := question{s: d.statute([]measure{small, great}[d.From(0, 1)]), size: d.From(0, 2)}
 	q.read, q.kind = d.reading(q.s), d.From(0, len(q.s.Kinds)-1)
 	mark := q.s.Kinds[q.kind].Mark
-	q.mark = tear(mark, d.some(d.From(0, len(mark)), len(mark)))
-	q.strikes = d.strikes(8, d.some(d.From(0, 4), 8))
+	q.mark = samples.Tear(mark, d.Some(d.From(0, len(mark)), len(mark))...)
+	q.strikes = d.strikes(8, d.Some(d.From(0, 4), 8))
 	q.rows = d.rows(q.s, q.size, d.From(0, api.MaxSealRows), d.From(-40, 40))
-	d.slip(q.rows, d.some(len(q.rows)/3, len(q.rows)))
+	d.slip(q.rows, d.Some(len(q.rows)/3, len(q.rows)))
 	return q
 }
 

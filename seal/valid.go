@@ -1,9 +1,8 @@
 package seal
 
 import (
-	"slices"
-
 	"walkmill/api"
+	"walkmill/signs"
 	"walkmill/valid"
 )
 
@@ -23,15 +22,7 @@ func validKind(k api.SealKind) bool {
 
 // validMark reports whether a mark is neither too short nor too long, and has letters only, or some other runes.
 func validMark(mark string, others ...rune) bool {
-	if !valid.Within(1, api.MaxSealMark, len(mark)) {
-		return false
-	}
-	for _, letter := range mark {
-		if (letter < 'a' || letter > 'z') && !slices.Contains(others, letter) {
-			return false
-		}
-	}
-	return true
+	return signs.Only(mark, 1, api.MaxSealMark, 'a', 'z', others...)
 }
 
 func validReading(read []int) bool {

@@ -1,4 +1,4 @@
-// Package sets has the sets of numbers that layers look through. A set is a list that ascends.
+// Package sets has the sets and orders of numbers that layers look through. A set is a list that ascends.
 package sets
 
 import (
@@ -36,8 +36,37 @@ func all(n int) iter.Seq[[]int] {
 				next = set[len(set)-1] + 1
 			}
 			for ; next < n; next++ {
-				// One set grows in more than one way, so what grows must share no memory with it.
-				sets = append(sets, append(slices.Clip(set), next))
+				sets = append(sets, grown(set, next))
+			}
+		}
+	}
+}
+
+// grown returns a list with one number more, which shares no memory with it: one list grows in more than one way.
+func grown(list []int, number int) []int {
+	longer := make([]int, len(list), len(list)+1)
+	copy(longer, list)
+	return append(longer, number)
+}
+
+// Orders yields the lists that have each number below n once: the smaller ones first.
+func Orders(n int) iter.Seq[[]int] { return from(n) }
+
+// from yields the orders that begin with some numbers.
+func from(n int, begun ...int) iter.Seq[[]int] {
+	return func(yield func([]int) bool) {
+		if len(begun) == n {
+			yield(begun)
+			return
+		}
+		for x := range n {
+			if slices.Contains(begun, x) {
+				continue
+			}
+			for list := range from(n, grown(begun, x)...) {
+				if !yield(list) {
+					return
+				}
 			}
 		}
 	}

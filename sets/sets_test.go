@@ -1,9 +1,11 @@
 package sets_test
 
 import (
+	"fmt"
 	"slices"
 	"testing"
 
+	"walkmill/api"
 	"walkmill/samples"
 	"walkmill/sets"
 )
@@ -59,6 +61,26 @@ func TestCompare(t *testing.T) {
 	} {
 		if got, back := sets.Compare(x.a, x.b), sets.Compare(x.b, x.a); got != x.want || back != -x.want {
 			t.Errorf("Compare(%v, %v) = %d, and %d, not %d", x.a, x.b, got, back, x.want)
+		}
+	}
+}
+
+// TestOrders is for all orders, the smaller ones first, each in memory of its own, and for a search that ends early.
+func TestOrders(t *testing.T) {
+	for n := range 7 {
+		var all [][]int
+		for order := range sets.Orders(n) {
+			all = append(all, order)
+		}
+		if !slices.EqualFunc(all, samples.Orders(n), slices.Equal[[]int]) {
+			t.Errorf("of %d: %v", n, all)
+		}
+		samples.OwnLists(t, all, fmt.Sprint)
+	}
+	for order := range sets.Orders(5) {
+		if order[0] == 1 {
+			samples.List(t, "the first order that begins with 1", []int{1, 0, 2, 3, 4}, api.OK)(order, api.OK)
+			break
 		}
 	}
 }

@@ -25,6 +25,7 @@ var layers = []struct{ name, words string }{
 	{"soap", "closure variadic embedding promoted range-function range-integer generic-function label"},
 	{"seal", "closure variadic embedding promoted map array range-function range-integer range-string rune iota label delete method-value"},
 	{"teasel", "closure variadic map array range-function range-integer copy struct-compared"},
+	{"theft", "closure variadic map array range-function range-integer method-value range-map"},
 }
 
 // TestWays looks for the features in all code that the exported functions of a layer reach.
