@@ -49,13 +49,8 @@ func with(c api.Cloth, more ...api.ClothMeasure) api.Cloth {
 }
 
 func without(c api.Cloth, numbers []int) api.Cloth {
-	left := api.Cloth{Tracks: c.Tracks}
-	for i, m := range c.Measures {
-		if !slices.Contains(numbers, i) {
-			left.Measures = append(left.Measures, m)
-		}
-	}
-	return left
+	c.Measures = samples.Drop(c.Measures, numbers)
+	return c
 }
 
 // pair is a truth of a quantity, as the chapter says it.

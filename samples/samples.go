@@ -3,6 +3,7 @@ package samples
 
 import (
 	"iter"
+	"math"
 	"slices"
 
 	"walkmill/api"
@@ -66,6 +67,32 @@ func Sets(n int) [][]int {
 		return slices.Compare(a, b)
 	})
 	return all
+}
+
+// First returns the first one of the sets of numbers below n, as Sets returns them, for which a condition holds; there must be one.
+func First(n int, holds func(set []int) bool) []int {
+	sets := Sets(n)
+	return sets[slices.IndexFunc(sets, holds)]
+}
+
+// Drop returns a list without the elements at some places.
+func Drop[E any](list []E, places []int) []E {
+	var others []E
+	for place, x := range list {
+		if !slices.Contains(places, place) {
+			others = append(others, x)
+		}
+	}
+	return others
+}
+
+// Faulty returns spans that are not valid from low to high.
+func Faulty(low, high int) []api.Span {
+	return []api.Span{
+		{Low: low - 1, High: low}, {Low: low - 1, High: high}, {Low: low - 1, High: low - 1},
+		{Low: high, High: high + 1}, {Low: low, High: high + 1}, {Low: high + 1, High: high + 1}, {Low: low + 1, High: low},
+		{Low: math.MinInt, High: low}, {Low: high, High: math.MaxInt}, {Low: math.MinInt, High: math.MaxInt}, {Low: math.MaxInt, High: math.MinInt}, {Low: math.MaxInt, High: low},
+	}
 }
 
 // Orders returns the lists that have each number below n once, as lists are compared.

@@ -225,13 +225,7 @@ func count(c api.StockCloth) tally {
 
 // without is a cloth without the measurings of some numbers.
 func without(c api.StockCloth, numbers []int) api.StockCloth {
-	left := set(c, func(c *api.StockCloth) { c.Measures = nil })
-	for i, m := range c.Measures {
-		if !slices.Contains(numbers, i) {
-			left.Measures = append(left.Measures, m)
-		}
-	}
-	return left
+	return set(c, func(c *api.StockCloth) { c.Measures = samples.Drop(c.Measures, numbers) })
 }
 
 // dice make what is tried here.

@@ -270,7 +270,7 @@ func TestFalseOfAllSets(t *testing.T) {
 		l := d.mixed()
 		claims := d.claims(l, d.From(0, api.MaxTheftClaims))
 		all := waysOf(l.cloths, l.pieces)
-		want := first(len(claims), func(set []int) bool { return agree(all, drop(claims, set)) })
+		want := samples.First(len(claims), func(set []int) bool { return agree(all, samples.Drop(claims, set)) })
 		name := fmt.Sprint("False of ", l.cloths, l.pieces, claims)
 		if len(want) == 0 {
 			samples.List[int](t, name, nil, api.ErrTwice)(theft.False(l.cloths, l.pieces, claims))
@@ -278,9 +278,9 @@ func TestFalseOfAllSets(t *testing.T) {
 			continue
 		}
 		samples.List(t, name, want, api.OK)(theft.False(l.cloths, l.pieces, claims))
-		samples.List[int](t, name+" without them", nil, api.ErrTwice)(theft.False(l.cloths, l.pieces, drop(claims, want)))
+		samples.List[int](t, name+" without them", nil, api.ErrTwice)(theft.False(l.cloths, l.pieces, samples.Drop(claims, want)))
 		for i := range want {
-			one, e := theft.False(l.cloths, l.pieces, drop(claims, without(want, i)))
+			one, e := theft.False(l.cloths, l.pieces, samples.Drop(claims, without(want, i)))
 			if len(one) != 1 || e != api.OK {
 				t.Fatalf("%s without all but %d = %v, %d", name, want[i], one, e)
 			}
@@ -357,7 +357,7 @@ func TestLiedOfAllSets(t *testing.T) {
 		for i := range sights { // so many are away that often all of them are
 			sights[i].Away += d.From(0, 20)
 		}
-		want := first(len(sights), func(set []int) bool { return len(thievesOf(persons, drop(sights, set), gone)) > 0 })
+		want := samples.First(len(sights), func(set []int) bool { return len(thievesOf(persons, samples.Drop(sights, set), gone)) > 0 })
 		name := fmt.Sprint("Lied of ", persons, sights, gone)
 		if len(want) == 0 {
 			samples.List[int](t, name, nil, api.ErrTwice)(theft.Lied(persons, sights, gone))

@@ -178,17 +178,6 @@ func holds(c api.TheftClaim, way []int) bool {
 	return way[c.Piece] != c.Cloth
 }
 
-// drop is a list without the elements at some places.
-func drop[E any](list []E, places []int) []E {
-	var others []E
-	for i, x := range list {
-		if !slices.Contains(places, i) {
-			others = append(others, x)
-		}
-	}
-	return others
-}
-
 // agree reports whether all claims are true in some way.
 func agree(ways [][]int, claims []api.TheftClaim) bool {
 	return slices.ContainsFunc(ways, func(way []int) bool {
@@ -233,12 +222,6 @@ func there(person int, sights []api.TheftSight, gone api.Span) bool {
 // thievesOf are the persons who can have been on the field.
 func thievesOf(persons int, sights []api.TheftSight, gone api.Span) []int {
 	return slices.DeleteFunc(samples.UpTo(persons), func(person int) bool { return !there(person, sights, gone) })
-}
-
-// first is the first one of all sets of numbers below n for which a condition holds: one of the shortest, and of these the smallest list.
-func first(n int, holds func(set []int) bool) []int {
-	sets := samples.Sets(n)
-	return sets[slices.IndexFunc(sets, holds)]
 }
 
 // dice make what is tried here.

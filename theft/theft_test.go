@@ -51,14 +51,6 @@ func TestCheckLong(t *testing.T) {
 	listed(t, of(bad), nil, api.ErrArg)
 }
 
-// faulty are spans that are not valid from low to high.
-func faulty(low, high int) []api.Span {
-	return []api.Span{
-		to(low-1, low), to(low-1, high), to(low-1, low-1), to(high, high+1), to(low, high+1), to(high+1, high+1), to(low+1, low),
-		to(math.MinInt, low), to(high, math.MaxInt), to(math.MinInt, math.MaxInt), to(math.MaxInt, math.MinInt), to(math.MaxInt, low),
-	}
-}
-
 // TestCheckCloths is for P9.1: each limit of a cloth can be reached, and is exceeded by one.
 func TestCheckCloths(t *testing.T) {
 	good := cloth(to(1, 600), to(0, 20), to(1, 99), "abcdwxyz")
@@ -70,13 +62,13 @@ func TestCheckCloths(t *testing.T) {
 		change(&c)
 		bad = append(bad, c)
 	}
-	for _, long := range faulty(1, 600) {
+	for _, long := range samples.Faulty(1, 600) {
 		add(func(c *api.TheftCloth) { c.Long = long })
 	}
-	for _, rate := range append(faulty(0, 100), to(0, 21), to(79, 100), to(0, 100)) {
+	for _, rate := range append(samples.Faulty(0, 100), to(0, 21), to(79, 100), to(0, 100)) {
 		add(func(c *api.TheftCloth) { c.Rate = rate })
 	}
-	for _, threads := range faulty(1, 99) {
+	for _, threads := range samples.Faulty(1, 99) {
 		add(func(c *api.TheftCloth) { c.Threads = threads })
 	}
 	for _, mark := range []string{"", "abcdefghi", "Anna", "ann?", "a na", "ann1", "`", "{", "é", "\xff", "a\x00", "a\n", strings.Repeat("a", 1000)} {
@@ -106,7 +98,7 @@ func faultyPieces(good api.TheftPiece) []api.TheftPiece {
 	for _, threads := range []int{0, 100, -1, math.MinInt, math.MaxInt} {
 		add(func(p *api.TheftPiece) { p.Threads = threads })
 	}
-	for _, washed := range faulty(0, 5) {
+	for _, washed := range samples.Faulty(0, 5) {
 		add(func(p *api.TheftPiece) { p.Washed = washed })
 	}
 	for _, mark := range []string{"abcdefghi", "?????????", "Ann?", "a na", "ann1", "a!", "é", "\xff", "\n"} {
@@ -373,7 +365,7 @@ func TestWatchErrors(t *testing.T) {
 		watched(t, api.ErrRange, persons, to(0, 0))
 		watched(t, api.ErrRange, persons, to(0, 0), many...)
 	}
-	for _, gone := range faulty(0, 1440) {
+	for _, gone := range samples.Faulty(0, 1440) {
 		watched(t, api.ErrRange, 1, gone, bad)
 		watched(t, api.ErrRange, 1, gone, many...)
 	}

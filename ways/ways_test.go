@@ -26,6 +26,7 @@ var layers = []struct{ name, words string }{
 	{"seal", "closure variadic embedding promoted map array range-function range-integer range-string rune iota label delete method-value"},
 	{"teasel", "closure variadic map array range-function range-integer copy struct-compared"},
 	{"theft", "closure variadic map array range-function range-integer method-value range-map"},
+	{"wool", "closure variadic embedding promoted map range-function range-integer method-expression"},
 }
 
 // TestWays looks for the features in all code that the exported functions of a layer reach.
@@ -201,8 +202,7 @@ func (p *program) word(n ast.Node) string {
 	case *ast.StructType:
 		return when(slices.ContainsFunc(x.Fields.List, func(f *ast.Field) bool { return len(f.Names) == 0 }), "embedding")
 	case *ast.SelectorExpr:
-		s := p.info.Selections[x]
-		return when(s != nil && s.Kind() == types.MethodVal && !p.called[x], "method-value")
+		return p.method(x)
 	case *ast.IndexExpr:
 		return when(p.structKeys(x.X), "struct-compared")
 	case *ast.BinaryExpr:
@@ -220,6 +220,15 @@ func (p *program) word(n ast.Node) string {
 		return p.ranged(x)
 	}
 	return ""
+}
+
+// method returns the word for a method that is not just called.
+func (p *program) method(x *ast.SelectorExpr) string {
+	s := p.info.Selections[x]
+	if s != nil && s.Kind() == types.MethodExpr {
+		return "method-expression"
+	}
+	return when(s != nil && s.Kind() == types.MethodVal && !p.called[x], "method-value")
 }
 
 // selected returns the word for the way to what is selected.
