@@ -27,6 +27,7 @@ var layers = []struct{ name, words string }{
 	{"teasel", "closure variadic map array range-function range-integer copy struct-compared"},
 	{"theft", "closure variadic map array range-function range-integer method-value range-map"},
 	{"wool", "closure variadic embedding promoted map range-function range-integer method-expression"},
+	{"shear", "closure variadic embedding promoted map range-function range-integer method-value struct-compared range-map"},
 }
 
 // TestWays looks for the features in all code that the exported functions of a layer reach.
